@@ -1,7 +1,6 @@
 package amount_test
 
 import (
-	"errors"
 	"math"
 	"math/big"
 	"slices"
@@ -11,6 +10,7 @@ import (
 
 	"custody/amount"
 	"custody/api"
+	"custody/proof"
 )
 
 const (
@@ -31,30 +31,13 @@ var edges = []int64{
 // fails: numbers below 0.
 var fails = []int64{-1, -2, -100, least + 1, least}
 
-// isJust tells whether err is the one number no, or nil for OK, and tells no place.
-func isJust(err error, no api.Errno) bool {
-	if no == api.OK {
-		return err == nil
-	}
-	var place api.Fault
-	if errors.As(err, &place) {
-		return false
-	}
-	for e := api.ErrArg; e <= api.ErrKind; e++ {
-		if errors.Is(err, e) != (e == no) {
-			return false
-		}
-	}
-	return true
-}
-
 // holds checks a number's answer; beside an error the number must be 0.
 func holds(t *testing.T, what string, args any, got int64, err error, want int64, no api.Errno) {
 	t.Helper()
 	if no != api.OK {
 		want = 0
 	}
-	if got != want || !isJust(err, no) {
+	if got != want || !proof.Tells(err, no) {
 		t.Errorf("%s%v is %d, %v; want %d, %v", what, args, got, err, want, no)
 	}
 }
@@ -287,7 +270,7 @@ func checkModes(t *testing.T, a, b, c, q int64) {
 	for i, err := range []error{upErr, halfUpErr, halfEvenErr} {
 		n := []int64{up, halfUp, halfEven}[i]
 		if err != nil {
-			if !isJust(err, api.ErrOver) || q != most || n != 0 {
+			if !proof.Tells(err, api.ErrOver) || q != most || n != 0 {
 				t.Errorf("MulDiv(%d, %d, %d, %d) is %d, %v, by Down %d", a, b, c, i+1, n, err, q)
 			}
 		} else if n != q && n-1 != q {
@@ -497,7 +480,7 @@ func TestSplitWrong(t *testing.T) {
 		{1, []int64{most, most, least}, api.ErrArg},
 	} {
 		got, err := amount.Split(c.n, c.weights)
-		if len(got) != 0 || !isJust(err, c.no) {
+		if len(got) != 0 || !proof.Tells(err, c.no) {
 			t.Errorf("Split(%d, %v) is %v, %v; want %v", c.n, c.weights, got, err, c.no)
 		}
 	}
@@ -690,7 +673,7 @@ func TestFormat(t *testing.T) {
 		{-1, 19, "", api.ErrArg},
 	} {
 		got, err := amount.Format(c.n, c.scale)
-		if got != c.want || !isJust(err, c.no) {
+		if got != c.want || !proof.Tells(err, c.no) {
 			t.Errorf("Format(%d, %d) is %q, %v; want %q, %v", c.n, c.scale, got, err, c.want, c.no)
 		}
 	}

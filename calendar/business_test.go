@@ -8,6 +8,7 @@ import (
 
 	"custody/api"
 	"custody/calendar"
+	"custody/proof"
 )
 
 var (
@@ -421,7 +422,7 @@ func TestTargetRefuses(t *testing.T) {
 	wrong := []int{0, 10000, -1, 10001, math.MaxInt, math.MinInt}
 	refuses := func(from, to int, no api.Errno) {
 		t.Helper()
-		if c, err := calendar.Target(from, to); c != nil || !tells(err, no) {
+		if c, err := calendar.Target(from, to); c != nil || !proof.Tells(err, no) {
 			t.Errorf("Target(%d, %d) is %v, %v; want %v", from, to, c, err, no)
 		}
 	}

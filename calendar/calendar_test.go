@@ -1,13 +1,13 @@
 package calendar_test
 
 import (
-	"errors"
 	"math"
 	"testing"
 	"time"
 
 	"custody/api"
 	"custody/calendar"
+	"custody/proof"
 )
 
 const last = 3652059 // 31 December 9999
@@ -15,24 +15,10 @@ const last = 3652059 // 31 December 9999
 // noDays are numbers that are no days, the nearest first.
 var noDays = []int{0, last + 1, -1, last + 2, -last, math.MaxInt, math.MinInt, math.MaxInt - 1, math.MinInt + 1, 1 << 32, 1<<32 + 5}
 
-// tells tells whether err is the one number no (nil for OK), and tells no place.
-func tells(err error, no api.Errno) bool {
-	if no == api.OK {
-		return err == nil
-	}
-	for e := api.ErrArg; e <= api.ErrKind; e++ {
-		if errors.Is(err, e) != (e == no) {
-			return false
-		}
-	}
-	var place api.Fault
-	return !errors.As(err, &place)
-}
-
 // holds checks a number and an error that a call answered.
 func holds(t *testing.T, call string, args any, got int, err error, want int, no api.Errno) {
 	t.Helper()
-	if got != want || !tells(err, no) {
+	if got != want || !proof.Tells(err, no) {
 		t.Errorf("%s%v is %d, %v; want %d, %v", call, args, got, err, want, no)
 	}
 }
@@ -175,7 +161,7 @@ func TestLeapDays(t *testing.T) {
 			no = api.OK
 		}
 		d := api.Date{Year: year, Month: 2, Day: 29}
-		if n, err := calendar.Number(d); !tells(err, no) || (n != 0) != (no == api.OK) {
+		if n, err := calendar.Number(d); !proof.Tells(err, no) || (n != 0) != (no == api.OK) {
 			t.Errorf("Number(%v) is %d, %v; want %v", d, n, err, no)
 		}
 	}
@@ -183,7 +169,7 @@ func TestLeapDays(t *testing.T) {
 
 func TestOfRefuses(t *testing.T) {
 	for _, n := range noDays {
-		if d, err := calendar.Of(n); (d != api.Date{}) || !tells(err, api.ErrDate) {
+		if d, err := calendar.Of(n); (d != api.Date{}) || !proof.Tells(err, api.ErrDate) {
 			t.Errorf("Of(%d) is %v, %v; want ErrDate", n, d, err)
 		}
 	}
@@ -282,7 +268,7 @@ func TestWeekExamples(t *testing.T) {
 
 func TestWeekRefuses(t *testing.T) {
 	for _, n := range noDays {
-		if y, w, err := calendar.Week(n); y != 0 || w != 0 || !tells(err, api.ErrDate) {
+		if y, w, err := calendar.Week(n); y != 0 || w != 0 || !proof.Tells(err, api.ErrDate) {
 			t.Errorf("Week(%d) is %d %d, %v; want ErrDate", n, y, w, err)
 		}
 	}
@@ -548,7 +534,7 @@ func TestFractionByHand(t *testing.T) {
 func TestFractionRefuses(t *testing.T) {
 	refuses := func(a, b, basis int, no api.Errno) {
 		t.Helper()
-		if up, down, err := calendar.Fraction(a, b, basis); up != 0 || down != 0 || !tells(err, no) {
+		if up, down, err := calendar.Fraction(a, b, basis); up != 0 || down != 0 || !proof.Tells(err, no) {
 			t.Errorf("Fraction(%d, %d, %d) is %d %d, %v; want %v", a, b, basis, up, down, err, no)
 		}
 	}

@@ -1,7 +1,6 @@
 package codes_test
 
 import (
-	"errors"
 	"fmt"
 	"math/big"
 	"strconv"
@@ -11,6 +10,7 @@ import (
 
 	"custody/api"
 	"custody/codes"
+	"custody/proof"
 )
 
 const (
@@ -22,19 +22,10 @@ const (
 
 // tells tells whether err is the one number no (nil for OK), with the place at, or with none.
 func tells(err error, no api.Errno, at int) bool {
-	if no == api.OK {
-		return err == nil
+	if no == api.OK || at == nowhere {
+		return proof.Tells(err, no)
 	}
-	for e := api.ErrArg; e <= api.ErrKind; e++ {
-		if errors.Is(err, e) != (e == no) {
-			return false
-		}
-	}
-	var place api.Fault
-	if !errors.As(err, &place) {
-		return at == nowhere
-	}
-	return at != nowhere && place == api.Fault{No: no, Line: 0, At: at}
+	return proof.TellsAt(err, no, 0, at)
 }
 
 // call is one of the layer's calls that read a text: the form of the longest one, one that it takes, which lengths it takes, and what it answers: whether all beside the error is zero, and the error.

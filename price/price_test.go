@@ -1,7 +1,6 @@
 package price_test
 
 import (
-	"errors"
 	"math"
 	"math/big"
 	"slices"
@@ -10,6 +9,7 @@ import (
 	"custody/api"
 	"custody/calendar"
 	"custody/price"
+	"custody/proof"
 )
 
 const (
@@ -28,27 +28,13 @@ var (
 	noDays     = []int{0, lastDay + 1, -1, -738535, 1<<32 + 738535, math.MaxInt, math.MinInt}
 )
 
-// tells tells whether err is the one number no (nil for OK), and tells no place.
-func tells(err error, no api.Errno) bool {
-	if no == api.OK {
-		return err == nil
-	}
-	for e := api.ErrArg; e <= api.ErrKind; e++ {
-		if errors.Is(err, e) != (e == no) {
-			return false
-		}
-	}
-	var place api.Fault
-	return !errors.As(err, &place)
-}
-
 // holds checks an amount and an error that a call answered; beside an error the amount must be 0.
 func holds(t *testing.T, call string, args any, got int64, err error, want int64, no api.Errno) {
 	t.Helper()
 	if no != api.OK {
 		want = 0
 	}
-	if got != want || !tells(err, no) {
+	if got != want || !proof.Tells(err, no) {
 		t.Errorf("%s %v is %d, %v; want %d, %v", call, args, got, err, want, no)
 	}
 }
@@ -164,7 +150,7 @@ func TestCheckKind(t *testing.T) {
 				func(s *api.Security) { s.Face, s.Coupon, s.Per = -1, -1, -1 },
 				func(s *api.Security) { *s = api.Security{Kind: kind} },
 			} {
-				if err := price.Check(with(s, turn)); !tells(err, api.ErrKind) {
+				if err := price.Check(with(s, turn)); !proof.Tells(err, api.ErrKind) {
 					t.Errorf("Check of kind %d is %v", kind, err)
 				}
 			}
@@ -179,11 +165,11 @@ func TestCheckCode(t *testing.T) {
 	check := func(s api.Security, code string, no api.Errno) {
 		t.Helper()
 		s.Code = isin(code)
-		if err := price.Check(s); !tells(err, no) {
+		if err := price.Check(s); !proof.Tells(err, no) {
 			t.Errorf("Check of kind %d with the code %q is %v; want %v", s.Kind, code, err, no)
 		}
 		s.Face, s.Per, s.Currency = -1, 3, "EU" // are looked at later
-		if err := price.Check(s); !tells(err, api.ErrForm) {
+		if err := price.Check(s); !proof.Tells(err, api.ErrForm) {
 			t.Errorf("Check of kind %d with the code %q and more that is wrong is %v", s.Kind, code, err)
 		}
 	}
@@ -206,7 +192,7 @@ func TestCheckEachByteOfCash(t *testing.T) {
 		for _, b := range []byte{1, '0', 'A', 255} {
 			s := cash()
 			s.Code[i] = b
-			if err := price.Check(s); !tells(err, api.ErrForm) {
+			if err := price.Check(s); !proof.Tells(err, api.ErrForm) {
 				t.Errorf("Check of cash with the byte %d at %d is %v", b, i, err)
 			}
 		}
@@ -217,11 +203,11 @@ func TestCheckCurrency(t *testing.T) {
 	for _, s := range every() {
 		for _, c := range []string{"", "E", "EU", "EURO", "eur", "E1R", "EU ", "€"} {
 			s.Currency = c
-			if err := price.Check(s); !tells(err, api.ErrForm) {
+			if err := price.Check(s); !proof.Tells(err, api.ErrForm) {
 				t.Errorf("Check of kind %d with the currency %q is %v", s.Kind, c, err)
 			}
 			wrong := with(s, func(s *api.Security) { s.Face, s.Per = -1, 3 })
-			if err := price.Check(wrong); !tells(err, api.ErrForm) {
+			if err := price.Check(wrong); !proof.Tells(err, api.ErrForm) {
 				t.Errorf("Check of kind %d with the currency %q and wrong terms is %v", s.Kind, c, err)
 			}
 		}
@@ -245,7 +231,7 @@ func TestCheckSimple(t *testing.T) {
 				func(s *api.Security) { s.Start = n },
 				func(s *api.Security) { s.End = n },
 			} {
-				if err := price.Check(with(s, turn)); !tells(err, api.ErrArg) {
+				if err := price.Check(with(s, turn)); !proof.Tells(err, api.ErrArg) {
 					t.Errorf("Check of kind %d with field %d as %d is %v", s.Kind, i, n, err)
 				}
 			}
@@ -303,7 +289,7 @@ func TestCheckTerms(t *testing.T) {
 		{"per and days", bill(), func(s *api.Security) { s.Per, s.End = 1, 0 }, api.ErrArg},
 		{"basis and days", bill(), func(s *api.Security) { s.Basis, s.End = 4, 0 }, api.ErrArg},
 	} {
-		if err := price.Check(with(x.s, x.turn)); !tells(err, x.no) {
+		if err := price.Check(with(x.s, x.turn)); !proof.Tells(err, x.no) {
 			t.Errorf("Check of kind %d, %s: %v; want %v", x.s.Kind, x.what, err, x.no)
 		}
 	}
@@ -312,7 +298,7 @@ func TestCheckTerms(t *testing.T) {
 func TestCheckPerBasisDays(t *testing.T) {
 	check := func(s api.Security, no api.Errno) {
 		t.Helper()
-		if err := price.Check(s); !tells(err, no) {
+		if err := price.Check(s); !proof.Tells(err, no) {
 			t.Errorf("Check of %v is %v; want %v", s, err, no)
 		}
 	}
@@ -401,7 +387,7 @@ func TestCheckAnyhow(t *testing.T) {
 		s := anyhow(&x)
 		no := wrong(s)
 		seen[no]++
-		if err := price.Check(s); !tells(err, no) {
+		if err := price.Check(s); !proof.Tells(err, no) {
 			t.Fatalf("Check of %v is %v; want %v", s, err, no)
 		}
 	}
@@ -481,7 +467,7 @@ func TestCoupons(t *testing.T) {
 
 func TestCouponsRefuses(t *testing.T) {
 	for _, s := range []api.Security{equity(), bill(), cash()} {
-		if l, err := price.Coupons(s); l != nil || !tells(err, api.ErrKind) {
+		if l, err := price.Coupons(s); l != nil || !proof.Tells(err, api.ErrKind) {
 			t.Errorf("Coupons of kind %d is %v, %v", s.Kind, l, err)
 		}
 	}
@@ -496,7 +482,7 @@ func TestCouponsRefuses(t *testing.T) {
 			continue
 		}
 		l, err := price.Coupons(s)
-		if !tells(err, no) || (err != nil && l != nil) || (err == nil && len(l) == 0) {
+		if !proof.Tells(err, no) || (err != nil && l != nil) || (err == nil && len(l) == 0) {
 			t.Fatalf("Coupons of %v is %v, %v; want %v", s, l, err, no)
 		}
 	}

@@ -8,6 +8,7 @@ import (
 
 	"custody/api"
 	"custody/price"
+	"custody/proof"
 )
 
 var (
@@ -23,7 +24,7 @@ func floats(t *testing.T, call string, args any, got float64, err error, want fl
 	if no != api.OK {
 		want = 0
 	}
-	if math.Float64bits(got) != math.Float64bits(want) || !tells(err, no) {
+	if math.Float64bits(got) != math.Float64bits(want) || !proof.Tells(err, no) {
 		t.Errorf("%s %v is %v, %v; want %v, %v", call, args, got, err, want, no)
 	}
 }

@@ -7,6 +7,7 @@ import (
 	"testing"
 
 	"custody/api"
+	"custody/proof"
 	"custody/wire"
 )
 
@@ -67,7 +68,7 @@ func unframes(t *testing.T, b []byte) {
 	n, payload, size, no := unframed(b)
 	given, room := roomy(b)
 	gotN, got, gotSize, err := wire.Unframe(given)
-	if gotN != n || !bytes.Equal(got, payload) || gotSize != size || !tells(err, no) {
+	if gotN != n || !bytes.Equal(got, payload) || gotSize != size || !proof.Tells(err, no) {
 		t.Errorf("Unframe(% .30x) is %d, % .20x, %d, %v; want %d, % .20x, %d, %v", b, gotN, got, gotSize, err, n, payload, size, no)
 	}
 	if !bytes.Equal(given, b) || !untouched(room) {
@@ -84,7 +85,7 @@ func unframes(t *testing.T, b []byte) {
 // refused checks that Unframe answers just this error.
 func refused(t *testing.T, b []byte, no api.Errno) {
 	t.Helper()
-	if n, payload, size, err := wire.Unframe(b); n != 0 || len(payload) != 0 || size != 0 || !tells(err, no) {
+	if n, payload, size, err := wire.Unframe(b); n != 0 || len(payload) != 0 || size != 0 || !proof.Tells(err, no) {
 		t.Errorf("Unframe(% .30x) is %d, % .20x, %d, %v; want %v", b, n, payload, size, err, no)
 	}
 }
@@ -139,7 +140,7 @@ func TestSumBitByBit(t *testing.T) {
 	for x := range 1 << 16 {
 		check([]byte{byte(x), byte(x >> 8)})
 	}
-	d := dice(5)
+	d := roll(5)
 	for n := range 600 {
 		check(d.bytes(n))
 		check(make([]byte, n))
@@ -151,7 +152,7 @@ func TestSumBitByBit(t *testing.T) {
 // P5.7
 
 func TestFrame(t *testing.T) {
-	d := dice(6)
+	d := roll(6)
 	for _, n := range sizes() {
 		for _, number := range numbers() {
 			payload := d.bytes(n)
@@ -178,7 +179,7 @@ func TestFrameExample(t *testing.T) {
 func TestFrameOfTooMuch(t *testing.T) {
 	for _, n := range []int{api.MaxFrame + 1, api.MaxFrame + 2, 1 << 17, 1 << 20} {
 		for _, number := range []uint64{0, 1, math.MaxUint64} {
-			if f, err := wire.Frame(number, make([]byte, n)); len(f) != 0 || !tells(err, api.ErrMany) {
+			if f, err := wire.Frame(number, make([]byte, n)); len(f) != 0 || !proof.Tells(err, api.ErrMany) {
 				t.Errorf("Frame of %d bytes has %d bytes, %v", n, len(f), err)
 			}
 		}
@@ -204,7 +205,7 @@ func TestFrameIsNewMemory(t *testing.T) {
 // P5.8
 
 func TestUnframe(t *testing.T) {
-	d := dice(7)
+	d := roll(7)
 	for _, n := range sizes() {
 		for _, number := range numbers() {
 			payload := d.bytes(n)
@@ -300,12 +301,12 @@ func TestUnframeWithEachPartBroken(t *testing.T) {
 }
 
 func TestUnframeOfAnyBytes(t *testing.T) {
-	d := dice(8)
+	d := roll(8)
 	for range 50000 {
-		b := d.bytes(d.below(20))
+		b := d.bytes(d.Below(20))
 		for i := range min(3, len(b)) {
-			if d.below(2) == 0 {
-				b[i] = byte(d.below(4))
+			if d.Below(2) == 0 {
+				b[i] = byte(d.Below(4))
 			}
 		}
 		unframes(t, b)
@@ -331,14 +332,14 @@ func TestUnframeIsNewMemory(t *testing.T) {
 // P5.11
 
 func TestFramesThereAndBack(t *testing.T) {
-	d := dice(9)
+	d := roll(9)
 	for range 5000 {
-		number, payload := d.number(), d.bytes(d.below(40))
+		number, payload := d.number(), d.bytes(d.Below(40))
 		f := made(t, number, payload)
 		for i := range f {
 			refused(t, f[:i], api.ErrShort)
 		}
-		n, got, size, err := wire.Unframe(join(f, d.bytes(d.below(10))))
+		n, got, size, err := wire.Unframe(join(f, d.bytes(d.Below(10))))
 		if n != number || !bytes.Equal(got, payload) || size != len(f) || err != nil {
 			t.Fatalf("Unframe(Frame(%d, % x)) is %d, % x, %d, %v", number, payload, n, got, size, err)
 		}
@@ -346,7 +347,7 @@ func TestFramesThereAndBack(t *testing.T) {
 }
 
 func TestBeginningsOfLongFrames(t *testing.T) {
-	d := dice(10)
+	d := roll(10)
 	for _, n := range []int{247, 248, 256, 65535, 65536} {
 		f := made(t, math.MaxUint64, d.bytes(n))
 		head := len(f) - n
@@ -359,7 +360,7 @@ func TestBeginningsOfLongFrames(t *testing.T) {
 }
 
 func TestFramesOneBehindTheOther(t *testing.T) {
-	d := dice(11)
+	d := roll(11)
 	var all []byte
 	for n := range 100 {
 		all = append(all, made(t, uint64(n), d.bytes(n))...)
@@ -384,9 +385,9 @@ func changes() []uint32 {
 			l = append(l, 1<<i|1<<j)
 		}
 	}
-	d := dice(12)
+	d := roll(12)
 	for range 300 {
-		if x := uint32(d.next()) >> d.below(24); x != 0 {
+		if x := uint32(d.Next()) >> d.Below(24); x != 0 {
 			l = append(l, x)
 		}
 	}
@@ -405,7 +406,7 @@ func turn(b []byte, by uint32) bool {
 }
 
 func TestABurstIsSeen(t *testing.T) {
-	d := dice(13)
+	d := roll(13)
 	for _, n := range []int{0, 1, 2, 3, 4, 5, 12, 33, 248} {
 		whole := made(t, d.number(), d.bytes(n))
 		sumAt := len(whole) - n - 4
@@ -428,11 +429,11 @@ func TestABurstIsSeen(t *testing.T) {
 }
 
 func TestABurstInALongFrame(t *testing.T) {
-	d := dice(14)
+	d := roll(14)
 	whole := made(t, 1<<40, d.bytes(api.MaxFrame))
 	head := len(whole) - api.MaxFrame
 	for _, at := range []int{head, head + 1, head + 1000, len(whole) - 5, len(whole) - 4, len(whole) - 1} {
-		for _, by := range []uint32{1, 0x80000000, 0xffffffff, 0x82f63b78, uint32(d.next()) | 1} {
+		for _, by := range []uint32{1, 0x80000000, 0xffffffff, 0x82f63b78, uint32(d.Next()) | 1} {
 			b := bytes.Clone(whole)
 			if turn(b[at:], by) {
 				refused(t, b, api.ErrSum)

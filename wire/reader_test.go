@@ -7,6 +7,7 @@ import (
 	"testing"
 
 	"custody/api"
+	"custody/proof"
 	"custody/wire"
 )
 
@@ -68,14 +69,14 @@ func (c read) does(t *testing.T, b []byte) {
 	}
 	want, size, no := c.want(b)
 	got := c.ask(r)
-	if got != want || r.Left() != len(b)-size || !tells(r.Err(), no) {
+	if got != want || r.Left() != len(b)-size || !proof.Tells(r.Err(), no) {
 		t.Errorf("%s of % .20x is %.20v, %d left, %v; want %.20v, %d left, %v", c.name, b, got, r.Left(), r.Err(), want, len(b)-size, no)
 	}
 	end := no
 	if no == api.OK && size < len(b) {
 		end = api.ErrLong
 	}
-	if !tells(r.End(), end) {
+	if !proof.Tells(r.End(), end) {
 		t.Errorf("%s of % .20x: End is %v, want %v", c.name, b, r.End(), end)
 	}
 	if no != api.OK {
@@ -87,7 +88,7 @@ func (c read) does(t *testing.T, b []byte) {
 func standsStill(t *testing.T, r *wire.Reader, left int, no api.Errno) {
 	t.Helper()
 	for _, c := range []read{readUint(math.MaxUint64), readUint(0), readInt(), readText(math.MaxInt), readText(0), readText(-1)} {
-		if got := c.ask(r); got != c.zero() || r.Left() != left || !tells(r.Err(), no) || !tells(r.End(), no) {
+		if got := c.ask(r); got != c.zero() || r.Left() != left || !proof.Tells(r.Err(), no) || !proof.Tells(r.End(), no) {
 			t.Errorf("behind the error %v %s is %.20v, %d left (want %d), %v, End %v", no, c.name, got, r.Left(), left, r.Err(), r.End())
 		}
 	}
@@ -166,13 +167,13 @@ func TestEveryTwoBytesAndManyMore(t *testing.T) {
 		readUint(math.MaxUint64).does(t, []byte{0xf9, byte(x >> 8), byte(x)})
 		readUint(300).does(t, []byte{0xf8, byte(x >> 8), byte(x)})
 	}
-	d := dice(1)
+	d := roll(1)
 	for range 20000 {
-		b := d.bytes(d.below(12))
-		if len(b) > 0 && d.below(2) == 0 {
+		b := d.bytes(d.Below(12))
+		if len(b) > 0 && d.Below(2) == 0 {
 			b[0] |= 0xf8
 		}
-		if len(b) > 1 && d.below(4) == 0 {
+		if len(b) > 1 && d.Below(4) == 0 {
 			b[1] = 0
 		}
 		each(b)
@@ -184,12 +185,12 @@ func TestMalformedNumbers(t *testing.T) {
 		for _, c := range []read{readUint(math.MaxUint64), readUint(0), readInt(), readText(math.MaxInt), readText(-1)} {
 			r := wire.NewReader(b)
 			// Ahead of ErrMany, whatever the most.
-			if got := c.ask(r); got != c.zero() || !tells(r.Err(), api.ErrForm) || r.Left() != len(b) {
+			if got := c.ask(r); got != c.zero() || !proof.Tells(r.Err(), api.ErrForm) || r.Left() != len(b) {
 				t.Errorf("%s of % x is %v, %v, %d left", c.name, b, got, r.Err(), r.Left())
 			}
 			// A byte less is too short, which is told ahead of the form.
 			r = wire.NewReader(b[:len(b)-1])
-			if got := c.ask(r); got != c.zero() || !tells(r.Err(), api.ErrShort) || r.Left() != len(b)-1 {
+			if got := c.ask(r); got != c.zero() || !proof.Tells(r.Err(), api.ErrShort) || r.Left() != len(b)-1 {
 				t.Errorf("%s of % x is %v, %v, %d left", c.name, b[:len(b)-1], got, r.Err(), r.Left())
 			}
 			for _, more := range beginnings(b) {
@@ -211,7 +212,7 @@ func TestAReaderStandsBehindWhatItRead(t *testing.T) {
 	if s := r.Text(3); s != "abc" || r.Left() != 5 {
 		t.Error(s, r.Left())
 	}
-	if !tells(r.End(), api.ErrLong) || r.Err() != nil { // End asks, and keeps nothing
+	if !proof.Tells(r.End(), api.ErrLong) || r.Err() != nil { // End asks, and keeps nothing
 		t.Error(r.End(), r.Err())
 	}
 	x := r.Int()
@@ -237,7 +238,7 @@ func TestTheFirstErrorStays(t *testing.T) {
 		{nil, readText(3), api.ErrShort},
 	} {
 		r := wire.NewReader(x.b)
-		if got := x.c.ask(r); got != x.c.zero() || !tells(r.Err(), x.no) {
+		if got := x.c.ask(r); got != x.c.zero() || !proof.Tells(r.Err(), x.no) {
 			t.Errorf("%s of % x is %v, %v", x.c.name, x.b, got, r.Err())
 		}
 		standsStill(t, r, len(x.b), x.no)
@@ -306,7 +307,7 @@ func TestTextsOfManyBytes(t *testing.T) {
 	} {
 		b := join(form(x.n), []byte("ab"))
 		r := wire.NewReader(b)
-		if s := r.Text(x.most); s != "" || !tells(r.Err(), x.no) || r.Left() != len(b) {
+		if s := r.Text(x.most); s != "" || !proof.Tells(r.Err(), x.no) || r.Left() != len(b) {
 			t.Errorf("Text(%d) of %d bytes is %q, %v, %d left; want %v", x.most, x.n, s, r.Err(), r.Left(), x.no)
 		}
 		readText(x.most).does(t, b)
@@ -325,24 +326,24 @@ func TestReadExamples(t *testing.T) {
 		{nil, api.ErrShort},
 	} {
 		r := wire.NewReader(x.b)
-		if n := r.Uint(300); n != 0 || !tells(r.Err(), x.no) {
+		if n := r.Uint(300); n != 0 || !proof.Tells(r.Err(), x.no) {
 			t.Errorf("Uint(300) of % x is %d, %v", x.b, n, r.Err())
 		}
 	}
 	r := wire.NewReader([]byte{3, 0x61, 0x62, 0x63})
-	if s := r.Text(2); s != "" || !tells(r.Err(), api.ErrMany) {
+	if s := r.Text(2); s != "" || !proof.Tells(r.Err(), api.ErrMany) {
 		t.Error(s, r.Err())
 	}
 	r = wire.NewReader([]byte{3, 0x61}) // too many ahead of too short
-	if s := r.Text(2); s != "" || !tells(r.Err(), api.ErrMany) {
+	if s := r.Text(2); s != "" || !proof.Tells(r.Err(), api.ErrMany) {
 		t.Error(s, r.Err())
 	}
 	r = wire.NewReader([]byte{2, 0x61})
-	if s := r.Text(2); s != "" || !tells(r.Err(), api.ErrShort) {
+	if s := r.Text(2); s != "" || !proof.Tells(r.Err(), api.ErrShort) {
 		t.Error(s, r.Err())
 	}
 	r = wire.NewReader([]byte{2, 0x61, 0x62, 0x63})
-	if s := r.Text(2); s != "ab" || !tells(r.End(), api.ErrLong) || r.Err() != nil {
+	if s := r.Text(2); s != "ab" || !proof.Tells(r.End(), api.ErrLong) || r.Err() != nil {
 		t.Error(s, r.End(), r.Err())
 	}
 }
@@ -352,14 +353,14 @@ func TestReadExamples(t *testing.T) {
 func TestEnd(t *testing.T) {
 	r := wire.NewReader([]byte{1, 2})
 	for _, want := range []api.Errno{api.ErrLong, api.ErrLong, api.OK} {
-		if !tells(r.End(), want) || !tells(r.End(), want) || r.Err() != nil {
+		if !proof.Tells(r.End(), want) || !proof.Tells(r.End(), want) || r.Err() != nil {
 			t.Errorf("with %d bytes left End is %v, Err %v", r.Left(), r.End(), r.Err())
 		}
 		if want != api.OK && r.Uint(2) == 0 {
 			t.Error("behind End a reader reads no more")
 		}
 	}
-	if r.Int() != 0 || !tells(r.End(), api.ErrShort) {
+	if r.Int() != 0 || !proof.Tells(r.End(), api.ErrShort) {
 		t.Error(r.End())
 	}
 	for _, b := range [][]byte{nil, {}} {
@@ -380,13 +381,13 @@ type step struct {
 }
 
 func (d *dice) step() step {
-	x := step{kind: d.below(3), u: d.number(), i: int64(d.number())}
-	if d.below(2) == 0 {
+	x := step{kind: d.Below(3), u: d.number(), i: int64(d.number())}
+	if d.Below(2) == 0 {
 		x.i = ^x.i
 	}
-	x.s = string(d.bytes(d.below(10)))
-	if d.below(20) == 0 {
-		x.s = string(d.bytes(d.below(600)))
+	x.s = string(d.bytes(d.Below(10)))
+	if d.Below(20) == 0 {
+		x.s = string(d.bytes(d.Below(600)))
 	}
 	return x
 }
@@ -414,10 +415,10 @@ func (x step) same(r *wire.Reader) bool {
 }
 
 func TestWhatIsWrittenIsRead(t *testing.T) {
-	d := dice(2)
+	d := roll(2)
 	for range 3000 {
 		w := wire.NewWriter()
-		row := make([]step, d.below(20))
+		row := make([]step, d.Below(20))
 		for i := range row {
 			row[i] = d.step()
 			row[i].write(w)
@@ -447,18 +448,18 @@ func copied(r *wire.Reader, w *wire.Writer, kind int) {
 }
 
 func TestWhatIsReadIsWritten(t *testing.T) {
-	d := dice(3)
+	d := roll(3)
 	whole := 0
 	for range 30000 {
-		b := d.bytes(d.below(10))
+		b := d.bytes(d.Below(10))
 		for i := range b {
-			if d.below(2) == 0 {
-				b[i] = byte([]int{0, 1, 2, 0xf7, 0xf8, 0xf9, 0xff}[d.below(7)])
+			if d.Below(2) == 0 {
+				b[i] = byte([]int{0, 1, 2, 0xf7, 0xf8, 0xf9, 0xff}[d.Below(7)])
 			}
 		}
 		r, w := wire.NewReader(b), wire.NewWriter()
 		for r.Left() > 0 && r.Err() == nil {
-			copied(r, w, d.below(3))
+			copied(r, w, d.Below(3))
 		}
 		if r.End() != nil {
 			continue
@@ -499,7 +500,7 @@ func TestTheOrderOfForms(t *testing.T) {
 	for x := range uint64(66000) {
 		check(x, x+1)
 	}
-	d := dice(4)
+	d := roll(4)
 	for range 20000 {
 		check(d.number(), d.number())
 	}

@@ -2,7 +2,6 @@ package wire_test
 
 import (
 	"bytes"
-	"errors"
 	"fmt"
 	"math"
 	"math/big"
@@ -11,43 +10,22 @@ import (
 	"testing"
 
 	"custody/api"
+	"custody/proof"
 	"custody/wire"
 )
 
-// tells tells whether err is the one number no (nil for OK), and tells no place.
-func tells(err error, no api.Errno) bool {
-	if no == api.OK {
-		return err == nil
-	}
-	for e := api.ErrArg; e <= api.ErrKind; e++ {
-		if errors.Is(err, e) != (e == no) {
-			return false
-		}
-	}
-	var place api.Fault
-	return !errors.As(err, &place)
-}
+// dice draws what this layer is asked with.
+type dice struct{ proof.Dice }
 
-// dice is a row of numbers that looks like chance, and is the same each time.
-type dice uint64
-
-func (d *dice) next() uint64 {
-	*d += 0x9e3779b97f4a7c15
-	x := uint64(*d)
-	x = (x ^ x>>30) * 0xbf58476d1ce4e5b9
-	x = (x ^ x>>27) * 0x94d049bb133111eb
-	return x ^ x>>31
-}
-
-func (d *dice) below(n int) int { return int(d.next() % uint64(n)) }
+func roll(seed uint64) *dice { return &dice{proof.Dice(seed)} }
 
 // number is one of any length in bits, as likely a short one as a long one.
-func (d *dice) number() uint64 { return d.next() >> d.below(64) }
+func (d *dice) number() uint64 { return d.Next() >> d.Below(64) }
 
 func (d *dice) bytes(n int) []byte {
 	b := make([]byte, n)
 	for i := range b {
-		b[i] = byte(d.next())
+		b[i] = byte(d.Next())
 	}
 	return b
 }
