@@ -78,3 +78,64 @@ func TestDice(t *testing.T) {
 		t.Errorf("of 7 and 8 it is %d", got)
 	}
 }
+
+// Items
+
+func some() []api.Item {
+	return []api.Item{{Tag: "20C", Qual: "SEME", Text: "A"}, {Name: "A", Items: []api.Item{{Tag: "23G"}, {Name: "B"}}}}
+}
+
+func TestSameItems(t *testing.T) {
+	if !proof.SameItems(some(), some()) || !proof.SameItems(nil, []api.Item{}) || proof.SameItems(some(), nil) || proof.SameItems(some(), some()[:1]) {
+		t.Errorf("lists are taken for the same that are not, or the other way round")
+	}
+	for _, turn := range []func(x *api.Item){
+		func(x *api.Item) { x.Tag += "x" },
+		func(x *api.Item) { x.Qual += "x" },
+		func(x *api.Item) { x.Text += "x" },
+		func(x *api.Item) { x.Name += "x" },
+		func(x *api.Item) { x.Items = append(x.Items, api.Item{}) },
+	} {
+		for at := range 3 {
+			l := some()
+			turn([]*api.Item{&l[0], &l[1], &l[1].Items[1]}[at])
+			if proof.SameItems(l, some()) {
+				t.Errorf("%q is taken for %q", l, some())
+			}
+		}
+	}
+}
+
+func TestRoomyItems(t *testing.T) {
+	for _, touch := range []func(l []api.Item){
+		func(l []api.Item) { _ = append(l, api.Item{}) },
+		func(l []api.Item) { _ = append(l[1].Items, api.Item{}) },
+		func(l []api.Item) { l[1].Items = append(l[1].Items[:1:1], l[1].Items[1:]...) },
+	} {
+		l := proof.Roomy(some())
+		if !proof.SameItems(l, some()) || !proof.Untouched(l) {
+			t.Fatalf("Roomy is %q", l)
+		}
+		touch(l)
+		if !proof.SameItems(l, some()) || proof.Untouched(l) {
+			t.Errorf("what was touched is not told of %q", l)
+		}
+	}
+}
+
+func TestSpoiltItems(t *testing.T) {
+	l := proof.Roomy(some())
+	l[0].Items = l[1].Items[:1] // two lists that share memory
+	proof.Overrun(l)
+	if l[1].Items[1].Name == "B" {
+		t.Errorf("Overrun leaves %q", l)
+	}
+	l = some()
+	in := l[1].Items
+	proof.Spoil(l)
+	for _, x := range append(l, in...) {
+		if x.Tag != "junk" {
+			t.Errorf("Spoil leaves %q", x)
+		}
+	}
+}

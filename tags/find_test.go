@@ -4,6 +4,7 @@ import (
 	"testing"
 
 	"custody/api"
+	"custody/proof"
 	"custody/tags"
 )
 
@@ -62,37 +63,37 @@ func blockOf(l []api.Item, name string) ([]api.Item, bool) {
 // looks checks Find, Block and Count of a list against the second reckoning, that they change nothing, and that they answer new memory.
 func looks(t *testing.T, l []api.Item) {
 	t.Helper()
-	given := roomy(l)
+	given := proof.Roomy(l)
 	for _, tag := range []string{"", "20C", "23G", "16R", "x", "\n", "A"} {
 		for _, qual := range []string{"", "SEME", "SEM", "_", "A"} {
 			want, has := findsOf(l, tag, qual)
 			got, ok := tags.Find(given, tag, qual)
-			overrun(got.Items)
-			if ok != has || !sameItem(got, want) {
+			proof.Overrun(got.Items)
+			if ok != has || !proof.SameItem(got, want) {
 				t.Errorf("Find(%q, %q, %q) is %q, %v; want %q, %v", l, tag, qual, got, ok, want, has)
 			}
 			if shares(texts(items(got)), texts(given)) {
 				t.Errorf("texts of Find(%q, %q, %q) share memory", l, tag, qual)
 			}
-			spoil(got.Items)
+			proof.Spoil(got.Items)
 		}
 	}
 	for _, name := range []string{"", "A", "B", "a", "\x00", "20C"} {
 		want, has := blockOf(l, name)
 		got, ok := tags.Block(given, name)
-		overrun(got)
-		if ok != has || !same(got, want) {
+		proof.Overrun(got)
+		if ok != has || !proof.SameItems(got, want) {
 			t.Errorf("Block(%q, %q) is %q, %v; want %q, %v", l, name, got, ok, want, has)
 		}
 		if shares(texts(got), texts(given)) {
 			t.Errorf("texts of Block(%q, %q) share memory", l, name)
 		}
-		spoil(got)
+		proof.Spoil(got)
 	}
 	if got := tags.Count(given); got != len(allFields(l)) {
 		t.Errorf("Count(%q) is %d, want %d", l, got, len(allFields(l)))
 	}
-	if !same(given, l) || !untouched(given) {
+	if !proof.SameItems(given, l) || !proof.Untouched(given) {
 		t.Errorf("Find, Block or Count change %q", l)
 	}
 }
@@ -100,7 +101,7 @@ func looks(t *testing.T, l []api.Item) {
 // found checks that Find answers just this field.
 func found(t *testing.T, want api.Item, l []api.Item, tag, qual string) {
 	t.Helper()
-	if got, ok := tags.Find(l, tag, qual); !ok || !sameItem(got, want) {
+	if got, ok := tags.Find(l, tag, qual); !ok || !proof.SameItem(got, want) {
 		t.Errorf("Find(%q, %q, %q) is %q, %v; want %q", l, tag, qual, got, ok, want)
 	}
 }
@@ -167,7 +168,7 @@ func TestFindAmongWhatIsNotRight(t *testing.T) {
 
 func TestBlock(t *testing.T) {
 	l := example()
-	if in, ok := tags.Block(l, "GENL"); !ok || !same(in, l[0].Items) {
+	if in, ok := tags.Block(l, "GENL"); !ok || !proof.SameItems(in, l[0].Items) {
 		t.Errorf("Block(GENL) is %q, %v", in, ok)
 	}
 	a, b := block("A", field("20C", "", "1")), block("A", field("20C", "", "2"))
@@ -198,7 +199,7 @@ func TestBlock(t *testing.T) {
 		{nil, "A", nil, false},
 		{nil, "", nil, false},
 	} {
-		if in, ok := tags.Block(x.l, x.name); ok != x.ok || !same(in, x.want) {
+		if in, ok := tags.Block(x.l, x.name); ok != x.ok || !proof.SameItems(in, x.want) {
 			t.Errorf("Block(%q, %q) is %q, %v; want %q, %v", x.l, x.name, in, ok, x.want, x.ok)
 		}
 		looks(t, x.l)
@@ -246,40 +247,40 @@ func TestFindAmongAnyItems(t *testing.T) {
 
 // TestAnswersAreNewMemory: what is answered outlives what was handed in, and the other way round; lists that are shared in what is handed in are not in the answer.
 func TestAnswersAreNewMemory(t *testing.T) {
-	inner := roomy(items(field("23G", "", "A"), block("C", field("70E", "", "B"))))
+	inner := proof.Roomy(items(field("23G", "", "A"), block("C", field("70E", "", "B"))))
 	x := api.Item{Tag: "20C", Name: "A", Items: items(block("A", inner...), block("B", inner...))}
 	x.Items[0].Items, x.Items[1].Items = inner, inner
 	l := items(api.Item{Name: "D", Items: items(x)}, x)
-	want := roomy(items(x))[0]
+	want := proof.Roomy(items(x))[0]
 
 	one, ok := tags.Find(l, "20C", "")
 	two, _ := tags.Find(l, "20C", "")
 	in, has := tags.Block(l, "D")
-	if !ok || !has || !sameItem(one, want) || !same(in, items(want)) {
+	if !ok || !has || !proof.SameItem(one, want) || !proof.SameItems(in, items(want)) {
 		t.Fatalf("Find, Block: %q, %q", one, in)
 	}
-	overrun(one.Items)
-	if !sameItem(one, want) {
+	proof.Overrun(one.Items)
+	if !proof.SameItem(one, want) {
 		t.Errorf("two lists of what Find answers share memory")
 	}
 	one.Items[0].Items[0].Text = "changed"
-	if !sameItem(x, want) || one.Items[1].Items[0].Text != "A" {
+	if !proof.SameItem(x, want) || one.Items[1].Items[0].Text != "A" {
 		t.Errorf("what Find answers shares memory")
 	}
-	overrun(in)
-	if !same(in, items(want)) {
+	proof.Overrun(in)
+	if !proof.SameItems(in, items(want)) {
 		t.Errorf("two lists of what Block answers share memory")
 	}
-	spoil(one.Items)
-	if !sameItem(x, want) || !sameItem(two, want) || !same(in, items(want)) {
+	proof.Spoil(one.Items)
+	if !proof.SameItem(x, want) || !proof.SameItem(two, want) || !proof.SameItems(in, items(want)) {
 		t.Errorf("what Find answers shares memory with its argument, or with another answer")
 	}
-	spoil(in)
-	if !sameItem(x, want) || !sameItem(two, want) {
+	proof.Spoil(in)
+	if !proof.SameItem(x, want) || !proof.SameItem(two, want) {
 		t.Errorf("what Block answers shares memory")
 	}
-	spoil(inner)
-	if !sameItem(two, want) {
+	proof.Spoil(inner)
+	if !proof.SameItem(two, want) {
 		t.Errorf("what Find answers shares memory with its argument")
 	}
 }

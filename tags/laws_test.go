@@ -6,6 +6,7 @@ import (
 	"testing"
 
 	"custody/api"
+	"custody/proof"
 	"custody/tags"
 )
 
@@ -17,11 +18,11 @@ func TestReadAndWrittenAreInverse(t *testing.T) {
 	for range 30000 {
 		l := d.message(d.Below(4), d.Below(3))
 		s := printed(t, l)
-		if was, ok := seen[s]; ok && !same(was, l) {
+		if was, ok := seen[s]; ok && !proof.SameItems(was, l) {
 			t.Errorf("%q and %q have the text %q", was, l, s)
 		}
 		seen[s] = l
-		if got := parse(t, s); !same(got, l) {
+		if got := parse(t, s); !proof.SameItems(got, l) {
 			t.Errorf("Parse(Print(%q)) is %q", l, got)
 		}
 	}
@@ -37,13 +38,13 @@ func TestMessagesBehindOneAnother(t *testing.T) {
 		if got := printed(t, slices.Concat(a, b)); got != s {
 			t.Errorf("Print of %q and %q is %q, want %q", a, b, got, s)
 		}
-		if got := parse(t, s); !same(got, slices.Concat(a, b)) {
+		if got := parse(t, s); !proof.SameItems(got, slices.Concat(a, b)) {
 			t.Errorf("Parse(%q) is %q", s, got)
 		}
 	}
 	half := ":20C:" + strings.Repeat("A", api.MaxText/2-6) + "\n"
 	l := parse(t, half+half)
-	if !same(l, slices.Concat(parse(t, half), parse(t, half))) || printed(t, l) != half+half {
+	if !proof.SameItems(l, slices.Concat(parse(t, half), parse(t, half))) || printed(t, l) != half+half {
 		t.Errorf("two messages of half the length are not one")
 	}
 	tooMany(t, half+half+":20:\n")
@@ -57,7 +58,7 @@ func TestMessagesAsItemsOfABlock(t *testing.T) {
 		if got := printed(t, items(block("AB", l...))); got != s {
 			t.Errorf("Print of a block of %q is %q, want %q", l, got, s)
 		}
-		if got := parse(t, s); !same(got, items(block("AB", l...))) {
+		if got := parse(t, s); !proof.SameItems(got, items(block("AB", l...))) {
 			t.Errorf("Parse(%q) is %q", s, got)
 		}
 	}

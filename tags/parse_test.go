@@ -6,6 +6,7 @@ import (
 	"testing"
 
 	"custody/api"
+	"custody/proof"
 	"custody/tags"
 )
 
@@ -143,7 +144,7 @@ func parses(t *testing.T, text string) {
 	t.Helper()
 	want, place := reckoned(text)
 	l, err := tags.Parse(text)
-	if !same(l, want) || !tells(err, place.No, [2]int{place.Line, place.At}) {
+	if !proof.SameItems(l, want) || !tells(err, place.No, [2]int{place.Line, place.At}) {
 		t.Errorf("Parse(%.300q) is %q, %v (%+v); want %q, %+v", text, l, err, err, want, place)
 		return
 	}
@@ -159,7 +160,7 @@ func parses(t *testing.T, text string) {
 // reads checks that a text is read as these items.
 func reads(t *testing.T, text string, want ...api.Item) {
 	t.Helper()
-	if l, err := tags.Parse(text); err != nil || !same(l, want) {
+	if l, err := tags.Parse(text); err != nil || !proof.SameItems(l, want) {
 		t.Errorf("Parse(%.300q) is %q, %v (%+v); want %q", text, l, err, err, want)
 	}
 	parses(t, text)
@@ -507,15 +508,15 @@ func TestParseIsNewMemory(t *testing.T) {
 		want := d.message(5, 3)
 		text := printed(t, want)
 		a, b := parse(t, text), parse(t, text)
-		overrun(a)
-		if !same(a, want) {
+		proof.Overrun(a)
+		if !proof.SameItems(a, want) {
 			t.Fatalf("lists of Parse(%q) share memory", text)
 		}
 		if shares(texts(a), []string{text}) || shares(texts(a), texts(b)) {
 			t.Fatalf("texts of Parse(%q) share memory", text)
 		}
-		spoil(a)
-		if !same(b, want) || !same(parse(t, text), want) {
+		proof.Spoil(a)
+		if !proof.SameItems(b, want) || !proof.SameItems(parse(t, text), want) {
 			t.Fatalf("two answers of Parse(%q) share memory", text)
 		}
 	}

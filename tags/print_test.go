@@ -6,6 +6,7 @@ import (
 	"testing"
 
 	"custody/api"
+	"custody/proof"
 	"custody/tags"
 )
 
@@ -66,19 +67,19 @@ func amiss(x api.Item, depth int) api.Errno {
 func prints(t *testing.T, l []api.Item) {
 	t.Helper()
 	want, no := written(l, 0)
-	given := roomy(l)
+	given := proof.Roomy(l)
 	s, err := tags.Print(given)
 	if s != want || !tells(err, no, nowhere) {
 		t.Errorf("Print(%q) is %q, %v (%+v); want %q, %v", l, s, err, err, want, no)
 		return
 	}
-	if !same(given, l) || !untouched(given) {
+	if !proof.SameItems(given, l) || !proof.Untouched(given) {
 		t.Errorf("Print(%q) changes its items", l)
 	}
 	if err != nil {
 		return
 	}
-	if got, err := tags.Parse(s); err != nil || !same(got, l) {
+	if got, err := tags.Parse(s); err != nil || !proof.SameItems(got, l) {
 		t.Errorf("Parse(Print(%q)) is %q, %v", l, got, err)
 	}
 }

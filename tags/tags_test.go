@@ -1,7 +1,6 @@
 package tags_test
 
 import (
-	"slices"
 	"strings"
 	"testing"
 	"unsafe"
@@ -38,14 +37,7 @@ func pick[T any](d *dice, l ...T) T { return proof.Of(&d.Dice, l...) }
 
 // What is handed in and answered: items.
 
-// same tells whether two lists hold the same; nil and empty are the same.
-func same(a, b []api.Item) bool { return slices.EqualFunc(a, b, sameItem) }
-
-func sameItem(a, b api.Item) bool {
-	return a.Tag == b.Tag && a.Qual == b.Qual && a.Text == b.Text && a.Name == b.Name && same(a.Items, b.Items)
-}
-
-func isZero(x api.Item) bool { return sameItem(x, api.Item{}) }
+func isZero(x api.Item) bool { return proof.SameItem(x, api.Item{}) }
 
 func field(tag, qual, text string) api.Item { return api.Item{Tag: tag, Qual: qual, Text: text} }
 
@@ -59,59 +51,6 @@ func deep(n int, l ...api.Item) []api.Item {
 		l = items(block("A", l...))
 	}
 	return l
-}
-
-// junk is what spare room is filled with.
-func junk() api.Item { return api.Item{Tag: "junk", Text: "junk", Items: []api.Item{{Name: "junk"}}} }
-
-// roomy is a copy of a list, and of all lists in it, each with spare room behind it that is filled with junk.
-func roomy(l []api.Item) []api.Item {
-	out := make([]api.Item, 0, len(l)+2)
-	for _, x := range l {
-		x.Items = roomy(x.Items)
-		out = append(out, x)
-	}
-	fill(out)
-	return out
-}
-
-func fill(l []api.Item) {
-	spare := l[len(l):cap(l)]
-	for i := range spare {
-		spare[i] = junk()
-	}
-}
-
-// untouched tells whether the spare room of each list is as roomy left it.
-func untouched(l []api.Item) bool {
-	for _, x := range l[len(l):cap(l)] {
-		if !sameItem(x, junk()) {
-			return false
-		}
-	}
-	for _, x := range l {
-		if !untouched(x.Items) {
-			return false
-		}
-	}
-	return cap(l) == len(l)+2
-}
-
-// overrun fills the spare room of each list, as one who was given it may. If two lists shared memory, one of them would be changed.
-func overrun(l []api.Item) {
-	for _, x := range l {
-		overrun(x.Items)
-	}
-	fill(l)
-}
-
-// spoil overwrites a list, all lists in it, and their spare room.
-func spoil(l []api.Item) {
-	l = l[:cap(l)]
-	for i := range l {
-		spoil(l[i].Items)
-		l[i] = junk()
-	}
 }
 
 // texts are all texts of a list's items.
