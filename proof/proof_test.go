@@ -139,3 +139,49 @@ func TestSpoiltItems(t *testing.T) {
 		}
 	}
 }
+
+// Traces
+
+func aTrace() api.Trace {
+	return api.Trace{Events: []api.Event{{Task: 1, Step: 2, Value: 3}}, Ended: []bool{true, false}, Waiting: []int{-1, 4}, Parked: []int{-1, -1}, Turns: 2, Cut: true}
+}
+
+func TestSameTrace(t *testing.T) {
+	if !proof.SameTrace(aTrace(), aTrace()) || !proof.SameTrace(api.Trace{}, api.Trace{Events: []api.Event{}, Ended: []bool{}, Waiting: []int{}, Parked: []int{}}) {
+		t.Error("the same are not the same")
+	}
+	for n, change := range []func(x *api.Trace){
+		func(x *api.Trace) { x.Events[0].Value++ },
+		func(x *api.Trace) { x.Events = nil },
+		func(x *api.Trace) { x.Ended[0] = false },
+		func(x *api.Trace) { x.Waiting[0] = 0 },
+		func(x *api.Trace) { x.Parked[1] = 0 },
+		func(x *api.Trace) { x.Turns++ },
+		func(x *api.Trace) { x.Cut = false },
+	} {
+		x := aTrace()
+		change(&x)
+		if proof.SameTrace(x, aTrace()) {
+			t.Errorf("change %d isn't seen", n)
+		}
+	}
+}
+
+func TestSpoilTrace(t *testing.T) {
+	x := aTrace()
+	both := []int{-1, 4, -1, -1}
+	x.Waiting, x.Parked = both[:2], both[2:]
+	proof.OverrunTrace(x)
+	if proof.SameTrace(x, aTrace()) {
+		t.Error("two lists share memory, and it isn't seen")
+	}
+	x = aTrace()
+	proof.OverrunTrace(x)
+	if !proof.SameTrace(x, aTrace()) {
+		t.Error("lists that share nothing are changed")
+	}
+	proof.SpoilTrace(x)
+	if x.Events[0] == aTrace().Events[0] || x.Ended[0] || !x.Ended[1] || x.Waiting[1] == 4 || x.Parked[0] == -1 {
+		t.Errorf("it isn't spoiled: %v", x)
+	}
+}
