@@ -23,8 +23,18 @@ func settles(most int) bool {
 	return false
 }
 
+// calm is how many goroutines there are, when those of earlier tests are gone.
+func calm() int {
+	least := runtime.NumGoroutine()
+	for range 5 {
+		time.Sleep(time.Millisecond)
+		least = min(least, runtime.NumGoroutine())
+	}
+	return least
+}
+
 func TestGoAnswersNumbers(t *testing.T) {
-	base := runtime.NumGoroutine()
+	base := calm()
 	r := sched.New(ints(0, 0, 0))
 	called := 0
 	for n := range 50 {
@@ -166,7 +176,7 @@ func TestOneRunsAtATime(t *testing.T) {
 
 // TestTasksAreGivenUp: runnable, waiting, parked and never begun, each task has gone when Run answers, and did nothing more. What they put off is done one by one.
 func TestTasksAreGivenUp(t *testing.T) {
-	base := runtime.NumGoroutine()
+	base := calm()
 	for turns := range 6 {
 		begun, behind, inside := 0, 0, 0
 		var left []int
@@ -207,7 +217,7 @@ func TestTasksAreGivenUp(t *testing.T) {
 
 // TestTasksThatStayStuck: the run is over and not cut, but tasks wait and are parked: they too have gone.
 func TestTasksThatStayStuck(t *testing.T) {
-	base := runtime.NumGoroutine()
+	base := calm()
 	left, behind := 0, 0
 	r := sched.New(make([]int, 50))
 	for n := range 12 {
@@ -244,7 +254,7 @@ func TestTasksThatStayStuck(t *testing.T) {
 
 // TestTasksWithoutEnd: a function may call Yield, Lock or Park again and again, for ever.
 func TestTasksWithoutEnd(t *testing.T) {
-	base := runtime.NumGoroutine()
+	base := calm()
 	d := roll(822)
 	left := 0
 	r := sched.New(drawPicks(d, 5000))
