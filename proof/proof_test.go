@@ -2,6 +2,7 @@ package proof_test
 
 import (
 	"errors"
+	"slices"
 	"testing"
 
 	"custody/api"
@@ -140,7 +141,43 @@ func TestSpoiltItems(t *testing.T) {
 	}
 }
 
+// Lists
+
+func TestRoom(t *testing.T) {
+	l := []int{1, 2}
+	got := proof.Room(l, 9)
+	all := proof.Whole(got)
+	if !slices.Equal(got, l) || len(all) < 5 || !slices.Equal(all[:5], []int{1, 2, 9, 9, 9}) {
+		t.Errorf("Room is %v, with its spare room %v", got, all)
+	}
+	if got[0] = 7; l[0] != 1 {
+		t.Error("Room is no copy")
+	}
+	if got := proof.Room(nil, "x"); len(got) != 0 || proof.Whole(got)[2] != "x" {
+		t.Errorf("Room of none is %q", proof.Whole(got))
+	}
+}
+
 // Traces
+
+func TestPicks(t *testing.T) {
+	d := proof.Dice(3)
+	if got := d.Picks(0); len(got) != 0 {
+		t.Errorf("no picks are %v", got)
+	}
+	got := d.Picks(300)
+	below := slices.ContainsFunc(got, func(p int) bool { return p < 0 })
+	above := slices.ContainsFunc(got, func(p int) bool { return p > 6 })
+	if len(got) != 300 || !below || !above || slices.Equal(got, d.Picks(300)) {
+		t.Errorf("picks are %v", got)
+	}
+}
+
+func TestNoted(t *testing.T) {
+	if got := proof.Noted([3]int{1, 2, 3}, [3]int{4, 5, 6}); !slices.Equal(got, []api.Event{{Task: 1, Step: 2, Value: 3}, {Task: 4, Step: 5, Value: 6}}) {
+		t.Errorf("%v", got)
+	}
+}
 
 func aTrace() api.Trace {
 	return api.Trace{Events: []api.Event{{Task: 1, Step: 2, Value: 3}}, Ended: []bool{true, false}, Waiting: []int{-1, 4}, Parked: []int{-1, -1}, Turns: 2, Cut: true}

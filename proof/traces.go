@@ -1,10 +1,29 @@
 package proof
 
 import (
+	"math"
 	"slices"
 
 	"custody/api"
 )
+
+// Picks are so many picks of a run.
+func (d *Dice) Picks(n int) []int {
+	out := make([]int, n)
+	for i := range out {
+		out[i] = Of(d, d.Below(7), d.Below(7)-6, int(d.Next()), math.MaxInt, math.MinInt)
+	}
+	return out
+}
+
+// Noted are events, told by their tasks, steps and values.
+func Noted(l ...[3]int) []api.Event {
+	var out []api.Event
+	for _, e := range l {
+		out = append(out, api.Event{Task: e[0], Step: e[1], Value: e[2]})
+	}
+	return out
+}
 
 // SameTrace tells whether two traces are the same; nil and empty lists are the same.
 func SameTrace(a, b api.Trace) bool {

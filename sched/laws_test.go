@@ -30,7 +30,7 @@ func TestOneAtATime(t *testing.T) {
 	for range 2000 {
 		tasks := draw(d, 6, 8, ints(0, 1), api.StYield, api.StLock, api.StUnlock, api.StUnlock)
 		holder := map[int]int{}
-		for _, e := range mustPlay(t, tasks, drawPicks(d, size(tasks))).Events {
+		for _, e := range mustPlay(t, tasks, d.Picks(size(tasks))).Events {
 			s := stepOf(tasks, e)
 			other, held := holder[s.A]
 			switch {
@@ -58,7 +58,7 @@ func TestItEnds(t *testing.T) {
 	for range 2000 {
 		tasks := drawPlay(d)
 		for _, more := range ints(0, 1, 9) {
-			x := mustPlay(t, tasks, drawPicks(d, size(tasks)+more))
+			x := mustPlay(t, tasks, d.Picks(size(tasks)+more))
 			if x.Cut || x.Turns > size(tasks) {
 				t.Fatalf("tasks %v: %d turns, cut: %v", tasks, x.Turns, x.Cut)
 			}
@@ -79,7 +79,7 @@ func TestABeginning(t *testing.T) {
 	d := roll(812)
 	for range 400 {
 		tasks := drawPlay(d)
-		picks := drawPicks(d, d.Below(size(tasks)+3))
+		picks := d.Picks(d.Below(size(tasks) + 3))
 		long := mustPlay(t, tasks, picks)
 		for n := range picks {
 			short := mustPlay(t, tasks, picks[:n])
@@ -99,7 +99,7 @@ func TestForWhomOneWaits(t *testing.T) {
 	waited := 0
 	for range 2000 {
 		tasks := drawPlay(d)
-		x := mustPlay(t, tasks, drawPicks(d, size(tasks)))
+		x := mustPlay(t, tasks, d.Picks(size(tasks)))
 		more := map[int]int{}
 		for _, e := range x.Events {
 			switch s := stepOf(tasks, e); {

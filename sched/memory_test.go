@@ -9,35 +9,27 @@ import (
 	"custody/sched"
 )
 
-// roomy is a copy of a list, with spare room behind it that is filled with junk.
-func roomy[T any](l []T, junk T) []T {
-	return append(slices.Clone(l), junk, junk, junk)[:len(l)]
-}
-
-// whole is a list with its spare room.
-func whole[T any](l []T) []T { return l[:cap(l)] }
-
 func TestPlayLeavesArguments(t *testing.T) {
 	d := roll(830)
 	for range 300 {
-		tasks := roomy(drawPlay(d), []api.Step{{Op: 9}})
+		tasks := proof.Room(drawPlay(d), []api.Step{{Op: 9}})
 		for i := range tasks {
-			tasks[i] = roomy(tasks[i], api.Step{Op: 9, A: 9, B: 9})
+			tasks[i] = proof.Room(tasks[i], api.Step{Op: 9, A: 9, B: 9})
 		}
-		picks := roomy(drawPicks(d, d.Below(size(tasks)+3)), 9)
+		picks := proof.Room(d.Picks(d.Below(size(tasks)+3)), 9)
 		var before [][]api.Step
-		for _, steps := range whole(tasks) {
-			before = append(before, slices.Clone(whole(steps)))
+		for _, steps := range proof.Whole(tasks) {
+			before = append(before, slices.Clone(proof.Whole(steps)))
 		}
-		old := slices.Clone(whole(picks))
+		old := slices.Clone(proof.Whole(picks))
 		mustPlay(t, tasks, picks)
-		for i, steps := range whole(tasks) {
-			if !slices.Equal(whole(steps), before[i]) {
-				t.Fatalf("task %d was %v, and is %v", i, before[i], whole(steps))
+		for i, steps := range proof.Whole(tasks) {
+			if !slices.Equal(proof.Whole(steps), before[i]) {
+				t.Fatalf("task %d was %v, and is %v", i, before[i], proof.Whole(steps))
 			}
 		}
-		if !slices.Equal(whole(picks), old) {
-			t.Fatalf("the picks were %v, and are %v", old, whole(picks))
+		if !slices.Equal(proof.Whole(picks), old) {
+			t.Fatalf("the picks were %v, and are %v", old, proof.Whole(picks))
 		}
 	}
 }
@@ -46,14 +38,14 @@ func TestNewKeepsACopy(t *testing.T) {
 	d := roll(831)
 	for range 300 {
 		tasks := drawPlay(d)
-		picks := roomy(drawPicks(d, d.Below(size(tasks)+3)), 9)
+		picks := proof.Room(d.Picks(d.Below(size(tasks)+3)), 9)
 		want := reckon(tasks, picks)
 		r := runtimeOf(tasks, picks)
-		for i := range whole(picks) {
-			whole(picks)[i] = d.Below(20) - 40
+		for i := range proof.Whole(picks) {
+			proof.Whole(picks)[i] = d.Below(20) - 40
 		}
-		old := slices.Clone(whole(picks))
-		if got := r.Run(); !proof.SameTrace(got, want) || !slices.Equal(whole(picks), old) {
+		old := slices.Clone(proof.Whole(picks))
+		if got := r.Run(); !proof.SameTrace(got, want) || !slices.Equal(proof.Whole(picks), old) {
 			t.Fatalf("%v, not %v", got, want)
 		}
 	}
@@ -63,7 +55,7 @@ func TestAnswersAreNewMemory(t *testing.T) {
 	d := roll(832)
 	for range 300 {
 		tasks := drawPlay(d)
-		picks := drawPicks(d, d.Below(size(tasks)+3))
+		picks := d.Picks(d.Below(size(tasks) + 3))
 		want := reckon(tasks, picks)
 		r := runtimeOf(tasks, picks)
 		first, second := r.Run(), mustPlay(t, tasks, picks)
@@ -97,8 +89,8 @@ func TestLateNotesStayOut(t *testing.T) {
 		t.Park(0)
 	})
 	x := r.Run()
-	want := noted([3]int{0, 1, 1}, [3]int{0, 2, 2}, [3]int{0, 3, 3})
-	if !slices.Equal(x.Events, want) || slices.Contains(whole(x.Events), api.Event{Step: 9, Value: 9}) {
-		t.Errorf("%v", whole(x.Events))
+	want := proof.Noted([3]int{0, 1, 1}, [3]int{0, 2, 2}, [3]int{0, 3, 3})
+	if !slices.Equal(x.Events, want) || slices.Contains(proof.Whole(x.Events), api.Event{Step: 9, Value: 9}) {
+		t.Errorf("%v", proof.Whole(x.Events))
 	}
 }

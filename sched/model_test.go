@@ -235,15 +235,6 @@ func drawPlay(d *dice) [][]api.Step {
 	return draw(d, 6, 8, pick(d, []int{0}, []int{0, 1}, []int{3, 7, math.MaxInt}), playOps...)
 }
 
-// drawPicks are so many picks of chance.
-func drawPicks(d *dice, n int) []int {
-	out := make([]int, n)
-	for i := range out {
-		out[i] = pick(d, d.Below(7), d.Below(7)-6, int(d.Next()), math.MaxInt, math.MinInt)
-	}
-	return out
-}
-
 func size(tasks [][]api.Step) int {
 	n := len(tasks)
 	for _, steps := range tasks {
@@ -257,7 +248,7 @@ func TestPlayAgainstModel(t *testing.T) {
 	waiting, parked, cut := 0, 0, 0
 	for range 6000 {
 		tasks := drawPlay(d)
-		picks := drawPicks(d, d.Below(size(tasks)+3))
+		picks := d.Picks(d.Below(size(tasks) + 3))
 		want := reckon(tasks, picks)
 		got, err := sched.Play(tasks, picks)
 		if err != nil || !proof.SameTrace(got, want) {
@@ -286,7 +277,7 @@ func TestRunAgainstModel(t *testing.T) {
 	ops := append([]int{stNow, stNow, stNumber, stNote}, playOps...)
 	for range 3000 {
 		tasks := draw(d, 6, 10, pick(d, []int{0}, []int{0, -1}, []int{-5, math.MinInt, math.MaxInt}), ops...)
-		picks := drawPicks(d, d.Below(size(tasks)+3))
+		picks := d.Picks(d.Below(size(tasks) + 3))
 		want := reckon(tasks, picks)
 		if got := runtimeOf(tasks, picks).Run(); !proof.SameTrace(got, want) {
 			t.Fatalf("tasks %v, picks %v: %v, not %v", tasks, picks, got, want)
@@ -301,7 +292,7 @@ func TestManyTasks(t *testing.T) {
 	for i := range tasks {
 		tasks[i] = []api.Step{{Op: pick(d, api.StPark, api.StLock), A: 1}, {Op: stNumber}, {Op: pick(d, api.StWake, api.StUnlock), A: 1}, {}, {Op: api.StWake, A: 1}}
 	}
-	picks := drawPicks(d, size(tasks))
+	picks := d.Picks(size(tasks))
 	want := reckon(tasks, picks)
 	if got := runtimeOf(tasks, picks).Run(); !proof.SameTrace(got, want) {
 		t.Error("a run of many tasks is another one than the model's")

@@ -20,12 +20,6 @@ func wake(e int) api.Step    { return api.Step{Op: api.StWake, A: e} }
 func all(l ...bool) []bool   { return l }
 func ints(l ...int) []int    { return l }
 func none(n int) []int       { return slices.Repeat([]int{-1}, n) }
-func noted(l ...[3]int) (out []api.Event) {
-	for _, e := range l {
-		out = append(out, api.Event{Task: e[0], Step: e[1], Value: e[2]})
-	}
-	return out
-}
 
 // plays are told by hand: the chapter's examples first.
 func plays() []struct {
@@ -44,15 +38,15 @@ func plays() []struct {
 	}{
 		{"no tasks", nil, ints(5), api.Trace{}},
 		{"cut", [][]api.Step{a, b}, ints(0, 1, 0, 0),
-			api.Trace{Events: noted([3]int{0, 0, 3}, [3]int{0, 2, 1}), Ended: all(true, false), Waiting: none(2), Parked: none(2), Turns: 4, Cut: true}},
+			api.Trace{Events: proof.Noted([3]int{0, 0, 3}, [3]int{0, 2, 1}), Ended: all(true, false), Waiting: none(2), Parked: none(2), Turns: 4, Cut: true}},
 		{"not cut", [][]api.Step{a, b}, ints(0, 1, 0, 0, 0),
-			api.Trace{Events: noted([3]int{0, 0, 3}, [3]int{0, 2, 1}, [3]int{1, 0, 3}, [3]int{1, 1, 1}), Ended: all(true, true), Waiting: none(2), Parked: none(2), Turns: 5}},
+			api.Trace{Events: proof.Noted([3]int{0, 0, 3}, [3]int{0, 2, 1}, [3]int{1, 0, 3}, [3]int{1, 1, 1}), Ended: all(true, true), Waiting: none(2), Parked: none(2), Turns: 5}},
 		{"wake", [][]api.Step{{park(1)}, {wake(1), wake(1)}}, ints(0, 0, 0),
-			api.Trace{Events: noted([3]int{1, 0, 1}, [3]int{1, 1, 0}), Ended: all(true, true), Waiting: none(2), Parked: none(2), Turns: 3}},
+			api.Trace{Events: proof.Noted([3]int{1, 0, 1}, [3]int{1, 1, 0}), Ended: all(true, true), Waiting: none(2), Parked: none(2), Turns: 3}},
 		{"its own mutex", [][]api.Step{{lock(1), lock(1)}}, ints(0, 0, 0),
-			api.Trace{Events: noted([3]int{0, 0, 1}), Ended: all(false), Waiting: ints(1), Parked: none(1), Turns: 2}},
+			api.Trace{Events: proof.Noted([3]int{0, 0, 1}), Ended: all(false), Waiting: ints(1), Parked: none(1), Turns: 2}},
 		{"counters", [][]api.Step{{read(0), add(0, 5), read(0)}}, ints(-1),
-			api.Trace{Events: noted([3]int{0, 0, 0}, [3]int{0, 2, 5}), Ended: all(true), Waiting: none(1), Parked: none(1), Turns: 1}},
+			api.Trace{Events: proof.Noted([3]int{0, 0, 0}, [3]int{0, 2, 5}), Ended: all(true), Waiting: none(1), Parked: none(1), Turns: 1}},
 
 		{"no tasks, no picks", nil, nil, api.Trace{}},
 		{"a task, no picks", [][]api.Step{{yield()}}, nil, api.Trace{Ended: all(false), Waiting: none(1), Parked: none(1), Cut: true}},
@@ -61,35 +55,35 @@ func plays() []struct {
 		{"picks that are left", [][]api.Step{{yield()}}, ints(0, 0, 0, 0), api.Trace{Ended: all(true), Waiting: none(1), Parked: none(1), Turns: 2}},
 		{"cut just ahead of the last turn", [][]api.Step{{yield()}}, ints(9), api.Trace{Ended: all(false), Waiting: none(1), Parked: none(1), Turns: 1, Cut: true}},
 		{"picks below 0 and far above", [][]api.Step{{read(0)}, {read(0)}, {read(0)}}, ints(-1, math.MaxInt, math.MinInt),
-			api.Trace{Events: noted([3]int{2, 0, 0}, [3]int{1, 0, 0}, [3]int{0, 0, 0}), Ended: all(true, true, true), Waiting: none(3), Parked: none(3), Turns: 3}},
+			api.Trace{Events: proof.Noted([3]int{2, 0, 0}, [3]int{1, 0, 0}, [3]int{0, 0, 0}), Ended: all(true, true, true), Waiting: none(3), Parked: none(3), Turns: 3}},
 		{"who has ended keeps a mutex", [][]api.Step{{lock(4)}, {lock(4), read(0)}}, ints(0, 0, 0, 0),
-			api.Trace{Events: noted([3]int{0, 0, 4}), Ended: all(true, false), Waiting: ints(-1, 4), Parked: none(2), Turns: 3}},
+			api.Trace{Events: proof.Noted([3]int{0, 0, 4}), Ended: all(true, false), Waiting: ints(-1, 4), Parked: none(2), Turns: 3}},
 		{"a mutex goes to who has waited longest", [][]api.Step{{lock(1), unlock(1)}, {lock(1), unlock(1)}, {lock(1), unlock(1)}, {lock(1), unlock(1)}},
 			ints(2, 3, 0, 0, 0, 0, 0, 0),
-			api.Trace{Events: noted([3]int{2, 0, 1}, [3]int{2, 1, 1}, [3]int{3, 0, 1}, [3]int{3, 1, 1}, [3]int{0, 0, 1}, [3]int{0, 1, 1}, [3]int{1, 0, 1}, [3]int{1, 1, 1}),
+			api.Trace{Events: proof.Noted([3]int{2, 0, 1}, [3]int{2, 1, 1}, [3]int{3, 0, 1}, [3]int{3, 1, 1}, [3]int{0, 0, 1}, [3]int{0, 1, 1}, [3]int{1, 0, 1}, [3]int{1, 1, 1}),
 				Ended: all(true, true, true, true), Waiting: none(4), Parked: none(4), Turns: 8}},
 		{"Unlock of what one doesn't hold", [][]api.Step{{unlock(1), lock(1)}, {unlock(1), lock(1), unlock(1)}}, ints(0, 0, 0),
-			api.Trace{Events: noted([3]int{0, 0, 0}, [3]int{0, 1, 1}, [3]int{1, 0, 0}), Ended: all(true, false), Waiting: ints(-1, 1), Parked: none(2), Turns: 3}},
+			api.Trace{Events: proof.Noted([3]int{0, 0, 0}, [3]int{0, 1, 1}, [3]int{1, 0, 0}), Ended: all(true, false), Waiting: ints(-1, 1), Parked: none(2), Turns: 3}},
 		{"a mutex is given back once", [][]api.Step{{lock(1), unlock(1), unlock(1), lock(1), unlock(1)}}, ints(0, 0, 0),
-			api.Trace{Events: noted([3]int{0, 0, 1}, [3]int{0, 1, 1}, [3]int{0, 2, 0}, [3]int{0, 3, 1}, [3]int{0, 4, 1}), Ended: all(true), Waiting: none(1), Parked: none(1), Turns: 3}},
+			api.Trace{Events: proof.Noted([3]int{0, 0, 1}, [3]int{0, 1, 1}, [3]int{0, 2, 0}, [3]int{0, 3, 1}, [3]int{0, 4, 1}), Ended: all(true), Waiting: none(1), Parked: none(1), Turns: 3}},
 		{"who has waited holds it", [][]api.Step{{lock(1), unlock(1), lock(1)}, {lock(1), yield(), unlock(1)}}, ints(0, 1, 0, 0, 0, 0),
-			api.Trace{Events: noted([3]int{0, 0, 1}, [3]int{0, 1, 1}, [3]int{1, 0, 1}, [3]int{1, 2, 1}, [3]int{0, 2, 1}), Ended: all(true, true), Waiting: none(2), Parked: none(2), Turns: 6}},
+			api.Trace{Events: proof.Noted([3]int{0, 0, 1}, [3]int{0, 1, 1}, [3]int{1, 0, 1}, [3]int{1, 2, 1}, [3]int{0, 2, 1}), Ended: all(true, true), Waiting: none(2), Parked: none(2), Turns: 6}},
 		{"a Wake ahead of a Park", [][]api.Step{{park(2)}, {wake(2)}}, ints(1, 0, 0, 0),
-			api.Trace{Events: noted([3]int{1, 0, 0}), Ended: all(false, true), Waiting: none(2), Parked: ints(2, -1), Turns: 2}},
+			api.Trace{Events: proof.Noted([3]int{1, 0, 0}), Ended: all(false, true), Waiting: none(2), Parked: ints(2, -1), Turns: 2}},
 		{"a Wake of several, not of all", [][]api.Step{{park(2)}, {park(3)}, {park(2)}, {wake(2), wake(3)}, {park(0)}}, ints(0, 0, 0, 1, 0, 0, 0, 0),
-			api.Trace{Events: noted([3]int{3, 0, 2}, [3]int{3, 1, 1}), Ended: all(true, true, true, true, false), Waiting: none(5), Parked: ints(-1, -1, -1, -1, 0), Turns: 8}},
+			api.Trace{Events: proof.Noted([3]int{3, 0, 2}, [3]int{3, 1, 1}), Ended: all(true, true, true, true, false), Waiting: none(5), Parked: ints(-1, -1, -1, -1, 0), Turns: 8}},
 		{"a mutex and an event of one name", [][]api.Step{{lock(1), park(1)}, {lock(1)}, {wake(1), unlock(1)}}, ints(0, 0, 0, 0, 0),
-			api.Trace{Events: noted([3]int{0, 0, 1}, [3]int{2, 0, 1}, [3]int{2, 1, 0}), Ended: all(true, false, true), Waiting: ints(-1, 1, -1), Parked: none(3), Turns: 5}},
+			api.Trace{Events: proof.Noted([3]int{0, 0, 1}, [3]int{2, 0, 1}, [3]int{2, 1, 0}), Ended: all(true, false, true), Waiting: ints(-1, 1, -1), Parked: none(3), Turns: 5}},
 		{"counters overflow", [][]api.Step{{add(1, math.MaxInt), add(1, 1), read(1), add(1, -1), read(1), add(2, math.MinInt), add(2, math.MinInt), read(2)}}, ints(0),
-			api.Trace{Events: noted([3]int{0, 2, math.MinInt}, [3]int{0, 4, math.MaxInt}, [3]int{0, 7, 0}), Ended: all(true), Waiting: none(1), Parked: none(1), Turns: 1}},
+			api.Trace{Events: proof.Noted([3]int{0, 2, math.MinInt}, [3]int{0, 4, math.MaxInt}, [3]int{0, 7, 0}), Ended: all(true), Waiting: none(1), Parked: none(1), Turns: 1}},
 		{"counters are all tasks' own", [][]api.Step{{add(1, 2)}, {read(1), read(0), add(1, 3)}, {read(1)}}, ints(0, 0, 0),
-			api.Trace{Events: noted([3]int{1, 0, 2}, [3]int{1, 1, 0}, [3]int{2, 0, 5}), Ended: all(true, true, true), Waiting: none(3), Parked: none(3), Turns: 3}},
+			api.Trace{Events: proof.Noted([3]int{1, 0, 2}, [3]int{1, 1, 0}, [3]int{2, 0, 5}), Ended: all(true, true, true), Waiting: none(3), Parked: none(3), Turns: 3}},
 		{"the greatest names", [][]api.Step{{add(math.MaxInt, 1), read(math.MaxInt), wake(math.MaxInt), lock(math.MaxInt), park(math.MaxInt)}}, ints(0, 0, 0),
-			api.Trace{Events: noted([3]int{0, 1, 1}, [3]int{0, 2, 0}, [3]int{0, 3, math.MaxInt}), Ended: all(false), Waiting: none(1), Parked: ints(math.MaxInt), Turns: 2}},
+			api.Trace{Events: proof.Noted([3]int{0, 1, 1}, [3]int{0, 2, 0}, [3]int{0, 3, math.MaxInt}), Ended: all(false), Waiting: none(1), Parked: ints(math.MaxInt), Turns: 2}},
 		{"A and B of a yield are not looked at", [][]api.Step{{{Op: api.StYield, A: -1, B: -1}, {Op: api.StYield, A: math.MinInt}}}, ints(0, 0, 0),
 			api.Trace{Ended: all(true), Waiting: none(1), Parked: none(1), Turns: 3}},
 		{"B alone of an add is looked at", [][]api.Step{{{Op: api.StRead, A: 0, B: -9}, {Op: api.StWake, A: 0, B: 9}, {Op: api.StUnlock, A: 0, B: math.MinInt}}}, ints(0),
-			api.Trace{Events: noted([3]int{0, 0, 0}, [3]int{0, 1, 0}, [3]int{0, 2, 0}), Ended: all(true), Waiting: none(1), Parked: none(1), Turns: 1}},
+			api.Trace{Events: proof.Noted([3]int{0, 0, 0}, [3]int{0, 1, 0}, [3]int{0, 2, 0}), Ended: all(true), Waiting: none(1), Parked: none(1), Turns: 1}},
 	}
 }
 

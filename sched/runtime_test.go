@@ -146,7 +146,7 @@ func TestNoteTakesAllNumbers(t *testing.T) {
 func TestOneRunsAtATime(t *testing.T) {
 	d := roll(821)
 	const tasks, rounds = 8, 200
-	r := sched.New(drawPicks(d, tasks*(3*rounds+1)))
+	r := sched.New(d.Picks(tasks * (3*rounds + 1)))
 	inside, sum := 0, 0
 	for range tasks {
 		r.Go(func(t *sched.Task) {
@@ -257,7 +257,7 @@ func TestTasksWithoutEnd(t *testing.T) {
 	base := calm()
 	d := roll(822)
 	left := 0
-	r := sched.New(drawPicks(d, 5000))
+	r := sched.New(d.Picks(5000))
 	for n := range 4 {
 		r.Go(func(t *sched.Task) {
 			defer func() { left++ }()
@@ -323,7 +323,7 @@ func TestFunctionsThatCatch(t *testing.T) {
 		}
 	})
 	x := r.Run()
-	if want := (api.Trace{Events: noted([3]int{0, 1, 1}), Ended: all(false), Waiting: none(1), Parked: none(1), Turns: 2, Cut: true}); !proof.SameTrace(x, want) || caught != 4 {
+	if want := (api.Trace{Events: proof.Noted([3]int{0, 1, 1}), Ended: all(false), Waiting: none(1), Parked: none(1), Turns: 2, Cut: true}); !proof.SameTrace(x, want) || caught != 4 {
 		t.Errorf("%v, caught %d times", x, caught)
 	}
 }
@@ -337,7 +337,7 @@ func TestFunctionsThatLeave(t *testing.T) {
 	})
 	r.Go(nil)
 	r.Go(func(t *sched.Task) { t.Note(3, 3) })
-	want := api.Trace{Events: noted([3]int{2, 3, 3}), Ended: all(true, true, true), Waiting: none(3), Parked: none(3), Turns: 4}
+	want := api.Trace{Events: proof.Noted([3]int{2, 3, 3}), Ended: all(true, true, true), Waiting: none(3), Parked: none(3), Turns: 4}
 	if x := r.Run(); !proof.SameTrace(x, want) {
 		t.Errorf("%v", x)
 	}
@@ -349,7 +349,7 @@ func TestFunctionsThatLeave(t *testing.T) {
 func TestRuntimesInRuntimes(t *testing.T) {
 	d := roll(823)
 	tasks := drawPlay(d)
-	picks := drawPicks(d, size(tasks)/2)
+	picks := d.Picks(size(tasks) / 2)
 	want := reckon(tasks, picks)
 	same := 0
 	r := sched.New(make([]int, 20))
