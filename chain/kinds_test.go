@@ -3,7 +3,6 @@ package chain_test
 import (
 	"iter"
 	"slices"
-	"strconv"
 	"testing"
 
 	"custody/api"
@@ -21,36 +20,22 @@ type versions interface {
 	all() iter.Seq2[int, int]
 }
 
-// wrong is what a value stands for that was never put.
-const wrong = -99
-
 // told is a chain of a type of values, and what each of them stands for.
 type told[V any] struct {
 	*chain.Chain[V]
-	value func(number int) V
-	same  func(a, b V) bool
+	proof.Values[V]
 }
 
-// number is what a value stands for, of the numbers that the tests put.
-func (c told[V]) number(v V) int {
-	for n := range 1000 {
-		if c.same(v, c.value(n)) {
-			return n
-		}
-	}
-	return wrong
-}
-
-func (c told[V]) put(n, v int) error { return c.Put(n, c.value(v)) }
+func (c told[V]) put(n, v int) error { return c.Put(n, c.Of(v)) }
 
 func (c told[V]) at(n int) (int, bool) {
 	v, ok := c.At(n)
-	return c.number(v), ok
+	return c.Number(v), ok
 }
 
 func (c told[V]) last() (int, int, bool) {
 	v, n, ok := c.Last()
-	return c.number(v), n, ok
+	return c.Number(v), n, ok
 }
 
 func (c told[V]) prune(n int) int { return c.Prune(n) }
@@ -60,52 +45,12 @@ func (c told[V]) count() int { return c.Len() }
 func (c told[V]) all() iter.Seq2[int, int] {
 	walk := c.All()
 	return func(yield func(int, int) bool) {
-		walk(func(n int, v V) bool { return yield(n, c.number(v)) })
+		walk(func(n int, v V) bool { return yield(n, c.Number(v)) })
 	}
 }
 
-// holding is a new chain of values that are made so, and told apart by ==.
-func holding[V comparable](value func(number int) V) versions {
-	return told[V]{chain.New[V](), value, func(a, b V) bool { return a == b }}
-}
-
-type thing struct {
-	text string
-	pair [2]int
-}
-
-func text(n int) string {
-	if n == 0 {
-		return ""
-	}
-	return "v" + strconv.Itoa(n)
-}
-
-func list(n int) []int {
-	if n == 0 {
-		return nil
-	}
-	return []int{n, -n}
-}
-
-// pointer makes pointers: of one number the same each time.
-func pointer() func(n int) *thing {
-	made := make([]thing, 1000)
-	return func(n int) *thing {
-		if n == 0 {
-			return nil
-		}
-		return &made[n]
-	}
-}
-
-// failure makes values behind an interface.
-func failure(n int) error {
-	if n == 0 {
-		return nil
-	}
-	return api.Errno(n)
-}
+// holding is a new chain of such values.
+func holding[V any](values proof.Values[V]) versions { return told[V]{chain.New[V](), values} }
 
 // eachType runs a test with chains of each type of values.
 func eachType(t *testing.T, test func(t *testing.T, made func() versions)) {
@@ -113,15 +58,13 @@ func eachType(t *testing.T, test func(t *testing.T, made func() versions)) {
 		name string
 		made func() versions
 	}{
-		{"texts", func() versions { return holding(text) }},
-		{"numbers", func() versions { return holding(func(n int) int { return n }) }},
-		{"short numbers", func() versions { return holding(func(n int) uint16 { return uint16(n) }) }},
-		{"structs", func() versions { return holding(func(n int) thing { return thing{text(n), [2]int{n, -n}} }) }},
-		{"pointers", func() versions { return holding(pointer()) }},
-		{"interfaces", func() versions { return holding(failure) }},
-		{"lists", func() versions {
-			return told[[]int]{chain.New[[]int](), list, func(a, b []int) bool { return slices.Equal(a, b) }}
-		}},
+		{"texts", func() versions { return holding(proof.Texts()) }},
+		{"numbers", func() versions { return holding(proof.Numbers()) }},
+		{"short numbers", func() versions { return holding(proof.Shorts()) }},
+		{"structs", func() versions { return holding(proof.Things()) }},
+		{"pointers", func() versions { return holding(proof.Pointers()) }},
+		{"interfaces", func() versions { return holding(proof.Failures()) }},
+		{"lists", func() versions { return holding(proof.Lists()) }},
 	} {
 		t.Run(x.name, func(t *testing.T) { test(t, x.made) })
 	}

@@ -222,3 +222,30 @@ func TestSpoilTrace(t *testing.T) {
 		t.Errorf("it isn't spoiled: %v", x)
 	}
 }
+
+// standFor tells that each number has a value of its own, the zero value 0, and that other values have none.
+func standFor[V any](t *testing.T, x proof.Values[V], other V) {
+	t.Helper()
+	var zero V
+	if got := x.Number(zero); got != 0 {
+		t.Errorf("%T: the zero value stands for %d", zero, got)
+	}
+	for _, n := range []int{0, 1, 2, 500, 999} {
+		if got := x.Number(x.Of(n)); got != n {
+			t.Errorf("%T: the value of %d stands for %d", zero, n, got)
+		}
+	}
+	if got := x.Number(other); got != proof.Wrong {
+		t.Errorf("%T: another value stands for %d", zero, got)
+	}
+}
+
+func TestValues(t *testing.T) {
+	standFor(t, proof.Texts(), "v1000")
+	standFor(t, proof.Numbers(), 1000)
+	standFor(t, proof.Shorts(), 1000)
+	standFor(t, proof.Things(), proof.Thing{Text: "v1", Pair: [2]int{1, 1}})
+	standFor(t, proof.Pointers(), &proof.Thing{})
+	standFor(t, proof.Failures(), errors.New("v1"))
+	standFor(t, proof.Lists(), []int{1})
+}
