@@ -17,14 +17,11 @@ const (
 	least = math.MinInt64
 )
 
-// pos is a position: so much is free, then names and quantities of marks.
-func pos(avail int64, marks ...int64) api.Position {
-	p := api.Position{Avail: avail}
-	for i := 0; i < len(marks); i += 2 {
-		p.Marks = append(p.Marks, api.Mark{Name: int(marks[i]), Qty: marks[i+1]})
-	}
-	return p
-}
+// pos is a position; same tells whether two are the same, once more, as Same is asked too.
+var (
+	pos  = proof.Position
+	same = proof.SamePosition
+)
 
 // full is a position with so much free, and marks of 1 under so many names, from 1 on.
 func full(avail int64, names int) api.Position {
@@ -33,19 +30,6 @@ func full(avail int64, names int) api.Position {
 		p.Marks = append(p.Marks, api.Mark{Name: n + 1, Qty: 1})
 	}
 	return p
-}
-
-// same tells whether two positions are the same; it is said here once more, as Same is asked too.
-func same(a, b api.Position) bool {
-	if a.Avail != b.Avail || len(a.Marks) != len(b.Marks) {
-		return false
-	}
-	for i, m := range a.Marks {
-		if m.Name != b.Marks[i].Name || m.Qty != b.Marks[i].Qty {
-			return false
-		}
-	}
-	return true
 }
 
 // isNothing tells whether a position is the zero value, as it must be beside an error.

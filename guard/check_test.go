@@ -12,28 +12,13 @@ import (
 // small is the configuration of the chapter's examples.
 func small() api.Config { return api.Config{Accounts: 3, Assets: 2} }
 
-func held(code, account, asset int, qty int64) api.Op {
-	return api.Op{Code: code, Account: account, Asset: asset, Qty: qty}
-}
-
-func marked(code, account, asset int, qty int64, name int) api.Op {
-	return api.Op{Code: code, Account: account, Asset: asset, Qty: qty, Name: name}
-}
-
-func leg(from, to, asset int, qty int64, name int) api.Leg {
-	return api.Leg{From: from, To: to, Asset: asset, Qty: qty, Name: name}
-}
-
-func submit(id int, legs ...api.Leg) api.Op { return api.Op{Code: api.OpSubmit, Id: id, Legs: legs} }
-
-// snapshot is one of pairs, told by their accounts and assets.
-func snapshot(pairs ...int) api.Op {
-	o := api.Op{Code: api.OpSnapshot}
-	for i := 0; i < len(pairs); i += 2 {
-		o.Pairs = append(o.Pairs, api.Key{Account: pairs[i], Asset: pairs[i+1]})
-	}
-	return o
-}
+var (
+	held     = proof.Held
+	marked   = proof.Marked
+	leg      = proof.Leg
+	submit   = proof.Submit
+	snapshot = proof.Snapshot
+)
 
 // times is a list of one thing so many times.
 func times[T any](n int, x T) []T { return slices.Repeat([]T{x}, n) }

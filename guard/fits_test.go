@@ -52,7 +52,7 @@ func TestFitsEachField(t *testing.T) {
 				x := c
 				*p.of(&x) = int(n)
 				no := api.OK
-				if outside(int(n), p.low, p.high) {
+				if proof.Outside(int(n), p.low, p.high) {
 					no = api.ErrArg
 				}
 				if err := guard.Fits(x); !proof.Tells(err, no) {
@@ -80,7 +80,7 @@ func TestFitsAll(t *testing.T) {
 	for _, c := range all {
 		no := api.OK
 		for _, p := range parts() {
-			if outside(*p.of(&c), p.low, p.high) {
+			if proof.Outside(*p.of(&c), p.low, p.high) {
 				no = api.ErrArg
 			}
 		}

@@ -11,9 +11,10 @@ import (
 
 const junkNumber = 7777
 
-func junkLeg() api.Leg { return leg(-71, -72, -73, -74, -75) }
-
-func junkKey() api.Key { return api.Key{Account: -76, Asset: -77} }
+var (
+	roomy = proof.RoomyOp
+	spoil = proof.SpoilOp
+)
 
 // someRows are rows of each kind, right and wrong.
 func someRows() [][]int64 {
@@ -34,18 +35,7 @@ func someOps() []api.Op {
 	return ops
 }
 
-// roomy is a copy of an operation whose lists have spare room with junk in it.
-func roomy(o api.Op) api.Op {
-	o.Legs, o.Pairs = proof.Room(o.Legs, junkLeg()), proof.Room(o.Pairs, junkKey())
-	return o
-}
-
-// spoil overwrites an operation's lists, and their spare room.
-func spoil(o api.Op) {
-	spoilAll(o.Legs, junkLeg())
-	spoilAll(o.Pairs, junkKey())
-}
-
+// spoilAll overwrites a list, and its spare room.
 func spoilAll[T any](l []T, junk T) {
 	l = proof.Whole(l)
 	for i := range l {

@@ -16,6 +16,9 @@ const (
 	least = math.MinInt64
 )
 
+// same tells whether two operations are the same.
+var same = proof.SameOp
+
 // layout is the chapter's table of rows: the fields that stand behind a code, the list behind them, and the fields of each thing in it.
 type layout struct {
 	fixed []string
@@ -117,63 +120,6 @@ func ownOf(o api.Op) api.Op {
 	return out
 }
 
-// same tells whether two operations are the same; nil and empty lists are the same.
-func same(a, b api.Op) bool {
-	return a.Code == b.Code && a.Account == b.Account && a.Asset == b.Asset && a.Qty == b.Qty && a.Name == b.Name && a.Id == b.Id &&
-		slices.Equal(a.Legs, b.Legs) && slices.Equal(a.Pairs, b.Pairs)
-}
-
-// ask is one thing that is looked at: the refusal, if the thing is wrong.
-type ask struct {
-	no    api.Errno
-	wrong bool
-}
-
-func outside(n int, low, high int) bool { return n < low || n > high }
-
-// below tells whether a number is from 0 to one below a bound.
-func below(n, bound int) bool { return bound > 0 && !outside(n, 0, bound-1) }
-
-// asksOf is the document's first table: all that is looked at of an operation, in its order.
-func asksOf(c api.Config, o api.Op) []ask {
-	account := func(n int) ask { return ask{api.ErrAccount, !below(n, c.Accounts)} }
-	asset := func(n int) ask { return ask{api.ErrAsset, !below(n, c.Assets)} }
-	amount := func(n int64) ask { return ask{api.ErrAmount, n <= 0} }
-	id := ask{api.ErrArg, outside(o.Id, 1, 1<<40)}
-	held := []ask{account(o.Account), asset(o.Asset), amount(o.Qty)}
-	switch o.Code {
-	case 1, 2:
-		return held
-	case 3, 4:
-		return append(held, ask{api.ErrMark, outside(o.Name, 1, 65536)})
-	case 5:
-		l := []ask{id, {api.ErrShort, len(o.Legs) == 0}, {api.ErrMany, len(o.Legs) > 4}}
-		for _, x := range o.Legs {
-			l = append(l, account(x.From), account(x.To), ask{api.ErrSame, x.From == x.To}, asset(x.Asset), amount(x.Qty), ask{api.ErrMark, outside(x.Name, 0, 65536)})
-		}
-		return l
-	case 6, 7:
-		return []ask{id}
-	case 8:
-		l := []ask{{api.ErrMany, len(o.Pairs) > 64}}
-		for _, x := range o.Pairs {
-			l = append(l, account(x.Account), asset(x.Asset))
-		}
-		return l
-	}
-	return []ask{{api.ErrCode, true}}
-}
-
-// judge is the first thing that is wrong with an operation.
-func judge(c api.Config, o api.Op) api.Errno {
-	for _, a := range asksOf(c, o) {
-		if a.wrong {
-			return a.no
-		}
-	}
-	return api.OK
-}
-
 // decodes checks Decode against the reckoning: what it answers.
 func decodes(t *testing.T, raw []int64) (api.Op, api.Errno) {
 	t.Helper()
@@ -199,7 +145,7 @@ func encodes(t *testing.T, o api.Op) ([]int64, api.Errno) {
 // checks checks Check against the reckoning: what it answers.
 func checks(t *testing.T, c api.Config, o api.Op) api.Errno {
 	t.Helper()
-	no := judge(c, o)
+	no := proof.Judge(c, o)
 	if err := guard.Check(c, o); !proof.Tells(err, no) {
 		t.Fatalf("Check(%+v, %+v) is %v; want %v", c, o, err, no)
 	}
