@@ -125,7 +125,7 @@ func TestManyKeys(t *testing.T) {
 	d := newDice(1)
 	shared := 0
 	for range 60000 {
-		o := d.anyOp()
+		o := d.AnyOp()
 		if got, want := dvp.Keys(o), opKeys(o); !slices.Equal(got, want) {
 			t.Fatalf("Keys(%+v) are %v; want %v", o, got, want)
 		}
@@ -146,7 +146,7 @@ func TestManyKeys(t *testing.T) {
 func TestKeysHangOnOwnFields(t *testing.T) {
 	d := newDice(2)
 	for range 20000 {
-		o, other := d.anyOp(), d.anyOp()
+		o, other := d.AnyOp(), d.AnyOp()
 		other.Code = o.Code
 		switch o.Code {
 		case 1, 2, 3, 4:

@@ -165,7 +165,7 @@ func TestCoveredSettles(t *testing.T) {
 	seen := map[bool]int{}
 	for range 15000 {
 		c := d.cells()
-		legs := d.legs(3)
+		legs := d.Legs(3)
 		covered, moved := dvp.Covered(open(c), legs), dvp.Move(open(c), legs)
 		if !proof.Tells(moved, numberOf(covered)) {
 			t.Fatalf("Covered(%+v) is %v, and Move %v", legs, covered, moved)
@@ -193,7 +193,7 @@ func TestRefusedAgain(t *testing.T) {
 	d := newDice(10)
 	again, later := 0, 0
 	for range 4000 {
-		legs := d.legs(2)
+		legs := d.Legs(2)
 		c := d.cells().records(4, api.Pending, legs...)
 		v := open(c)
 		if _, ok := dvp.Settle(v, 4); ok {

@@ -251,7 +251,7 @@ func TestMoveAllOrNone(t *testing.T) {
 	d := newDice(3)
 	moved, refused := 0, 0
 	for range 30000 {
-		c, legs := d.cells(), d.legs(4)
+		c, legs := d.cells(), d.Legs(4)
 		v := open(c)
 		if dvp.Move(v, legs) != nil {
 			refused++
