@@ -2,20 +2,18 @@ package tx_test
 
 import (
 	"cmp"
-	"math/big"
 	"slices"
 
 	"custody/api"
+	"custody/proof"
 	"custody/store"
 )
 
-// model is a second reckoning of tasks over a manager: no goroutines; what a clerk has still to do is a list of steps.
+// model is a second reckoning of tasks over a manager: no goroutines.
 type model struct {
+	*proof.Office
 	shards  int
 	clerks  []*clerk
-	turns   int
-	cut     bool
-	holder  map[int]*clerk
 	given   int
 	done    map[int]bool
 	list    []version
@@ -37,17 +35,10 @@ type version struct {
 	n, v int
 }
 
-// step does something; true if the turn ends by it.
-type step func() bool
-
 // clerk is a task of the model.
 type clerk struct {
-	number int
-	todo   []step
-	state  byte // r: runnable, w: waits, p: parked, e: ended
-	thing  int
-	since  int // the turn in which it began to wait
-	deal   *deal
+	*proof.Clerk
+	deal *deal
 }
 
 // deal is a transaction of the model.
@@ -60,116 +51,17 @@ type deal struct {
 }
 
 func newModel(shards, clerks int) *model {
-	m := &model{shards: min(max(shards, 1), api.MaxShards), holder: map[int]*clerk{}, done: map[int]bool{}}
-	for n := range clerks {
-		m.clerks = append(m.clerks, &clerk{number: n, state: 'r'})
+	m := &model{Office: proof.NewOffice(clerks), shards: min(max(shards, 1), api.MaxShards), done: map[int]bool{}}
+	for _, c := range m.Clerks {
+		m.clerks = append(m.clerks, &clerk{Clerk: c})
 	}
 	return m
 }
 
-// next lays steps ahead of all that is still to do.
-func (c *clerk) next(l ...step) { c.todo = append(l, c.todo...) }
-
 // play is the run by these picks.
 func (m *model) play(picks []int) {
-	for {
-		var able []*clerk
-		for _, c := range m.clerks {
-			if c.state == 'r' {
-				able = append(able, c)
-			}
-		}
-		if len(able) == 0 {
-			return
-		}
-		if m.turns == len(picks) {
-			m.cut = true
-			return
-		}
-		var place big.Int
-		place.Mod(big.NewInt(int64(picks[m.turns])), big.NewInt(int64(len(able))))
-		m.turns++
-		m.turn(able[place.Int64()])
-	}
-}
-
-func (m *model) turn(c *clerk) {
-	for len(c.todo) > 0 {
-		s := c.todo[0]
-		c.todo = c.todo[1:]
-		if s() {
-			return
-		}
-	}
-	c.state = 'e'
-}
-
-// trace is what the run came to; nothing is noted in it.
-func (m *model) trace() api.Trace {
-	x := api.Trace{Turns: m.turns, Cut: m.cut}
-	for _, c := range m.clerks {
-		waiting, parked := -1, -1
-		switch c.state {
-		case 'w':
-			waiting = c.thing
-		case 'p':
-			parked = c.thing
-		}
-		x.Ended = append(x.Ended, c.state == 'e')
-		x.Waiting = append(x.Waiting, waiting)
-		x.Parked = append(x.Parked, parked)
-	}
-	return x
-}
-
-// What a task asks of its runtime
-
-func pause() bool { return true }
-
-func (m *model) lock(c *clerk, mutex int) step {
-	return func() bool {
-		if m.holder[mutex] == nil {
-			m.holder[mutex] = c
-		} else {
-			c.state, c.thing, c.since = 'w', mutex, m.turns
-			m.seen.waited++
-		}
-		return true
-	}
-}
-
-func (m *model) unlock(c *clerk, mutex int) bool {
-	if m.holder[mutex] != c {
-		return false
-	}
-	delete(m.holder, mutex)
-	var longest *clerk
-	for _, o := range m.clerks {
-		if o.state == 'w' && o.thing == mutex && (longest == nil || o.since < longest.since) {
-			longest = o
-		}
-	}
-	if longest != nil {
-		longest.state = 'r'
-		m.holder[mutex] = longest
-	}
-	return true
-}
-
-func (c *clerk) park(event int) bool {
-	c.state, c.thing = 'p', event
-	return true
-}
-
-func (m *model) wake(event int) int {
-	n := 0
-	for _, c := range m.clerks {
-		if c.state == 'p' && c.thing == event {
-			c.state = 'r'
-			n++
-		}
-	}
-	return n
+	m.Play(picks)
+	m.seen.waited = m.Waited
 }
 
 // What a manager holds
@@ -234,14 +126,14 @@ func (m *model) shard(k api.Key) int { return store.Shard(k, m.shards) }
 
 func (m *model) begin(c *clerk, list []api.Key) {
 	d := &deal{}
-	var steps []step
+	var steps []proof.Step
 	for shard := range m.shards {
 		if slices.ContainsFunc(list, func(k api.Key) bool { return m.shard(k) == shard }) {
 			d.shards = append(d.shards, shard)
-			steps = append(steps, m.lock(c, shard))
+			steps = append(steps, m.Lock(c.Clerk, shard))
 		}
 	}
-	c.next(append(steps, func() bool {
+	c.Next(append(steps, func() bool {
 		c.deal = d
 		return false
 	})...)
@@ -277,7 +169,7 @@ func (m *model) also(c *clerk, mutex int, then func(ok bool)) {
 		then(false)
 		return
 	}
-	c.next(m.lock(c, mutex), func() bool {
+	c.Next(m.Lock(c.Clerk, mutex), func() bool {
 		d.also = append(d.also, mutex)
 		then(true)
 		return false
@@ -286,7 +178,7 @@ func (m *model) also(c *clerk, mutex int, then func(ok bool)) {
 
 func (m *model) release(c *clerk, l []int) {
 	for _, mutex := range slices.Backward(l) {
-		m.unlock(c, mutex)
+		m.Unlock(c.Clerk, mutex)
 	}
 }
 
@@ -307,30 +199,30 @@ func (m *model) commit(c *clerk, then func(n int)) {
 	m.given++
 	d.number = m.given
 	m.release(c, d.also)
-	steps := []step{pause}
+	steps := []proof.Step{proof.Pause}
 	for _, shard := range d.shards {
 		steps = append(steps, func() bool {
 			m.lay(d, shard)
 			return true
 		})
 	}
-	var wait step
+	var wait proof.Step
 	parked := 0
 	wait = func() bool {
 		if m.stable() < d.number {
 			parked++
 			m.seen.parked++
 			m.seen.again += parked / 2
-			c.next(wait)
-			return c.park(0)
+			c.Next(wait)
+			return c.Park(0)
 		}
 		then(d.number)
 		return false
 	}
-	c.next(append(steps, func() bool {
+	c.Next(append(steps, func() bool {
 		d.ended = true
 		m.done[d.number] = true
-		m.wake(0)
+		m.Wake(0)
 		m.release(c, d.shards)
 		return false
 	}, wait)...)
@@ -351,7 +243,7 @@ func (m *model) read(c *clerk, list []api.Key, then func(n int, values []int)) {
 	n := m.stable()
 	m.readers = append(m.readers, n)
 	var values []int
-	var steps []step
+	var steps []proof.Step
 	for _, k := range list {
 		steps = append(steps, func() bool {
 			x, _ := m.counts(k, n)
@@ -359,7 +251,7 @@ func (m *model) read(c *clerk, list []api.Key, then func(n int, values []int)) {
 			return true
 		})
 	}
-	c.next(append(steps, func() bool {
+	c.Next(append(steps, func() bool {
 		at := slices.Index(m.readers, n)
 		m.readers = slices.Delete(m.readers, at, at+1)
 		then(n, values)

@@ -63,11 +63,11 @@ func reckonPlay(tasks [][]api.Txn, registers, shards int, picks []int) (api.Play
 	for n, l := range tasks {
 		c := p.clerks[n]
 		for index, txn := range l {
-			c.todo = append(c.todo, p.steps(c, index, txn)...)
+			c.Todo = append(c.Todo, p.steps(c, index, txn)...)
 		}
 	}
 	p.play(picks)
-	out := api.Played{Quiet: !p.cut, Turns: p.turns}
+	out := api.Played{Quiet: !p.Cut, Turns: p.Turns}
 	for _, row := range p.entries {
 		for _, e := range row {
 			if e.deal != nil {
@@ -86,12 +86,12 @@ func reckonPlay(tasks [][]api.Txn, registers, shards int, picks []int) (api.Play
 }
 
 // steps are those of a transaction.
-func (p *modelPlay) steps(c *clerk, index int, txn api.Txn) []step {
+func (p *modelPlay) steps(c *clerk, index int, txn api.Txn) []proof.Step {
 	e := &modelEntry{}
 	invoked := func() bool {
 		p.time++
-		e.done = api.Done{Task: c.number, Index: index, Invoked: p.time}
-		p.entries[c.number] = append(p.entries[c.number], e)
+		e.done = api.Done{Task: c.Number, Index: index, Invoked: p.time}
+		p.entries[c.Number] = append(p.entries[c.Number], e)
 		return true
 	}
 	returned := func() bool {
@@ -100,7 +100,7 @@ func (p *modelPlay) steps(c *clerk, index int, txn api.Txn) []step {
 		return false
 	}
 	if txn.Read {
-		return []step{invoked, func() bool {
+		return []proof.Step{invoked, func() bool {
 			p.read(c, registerKeys(txn.Keys), func(number int, values []int) {
 				e.done.Number = number
 				for _, v := range values {
@@ -110,7 +110,7 @@ func (p *modelPlay) steps(c *clerk, index int, txn api.Txn) []step {
 			return false
 		}, returned}
 	}
-	return []step{invoked, func() bool {
+	return []proof.Step{invoked, func() bool {
 		p.begin(c, registerKeys(txn.Keys))
 		return false
 	}, func() bool {

@@ -107,8 +107,8 @@ func reckoned(shards int, scripts [][]op, picks []int) *model {
 	for n, ops := range scripts {
 		c := m.clerks[n]
 		for _, o := range ops {
-			c.todo = append(c.todo, func() bool {
-				return m.do(c, o, func(answers ...any) { m.lines = append(m.lines, line(n, m.turns, o, answers...)) })
+			c.Todo = append(c.Todo, func() bool {
+				return m.do(c, o, func(answers ...any) { m.lines = append(m.lines, line(n, m.Turns, o, answers...)) })
 			})
 		}
 	}
@@ -121,7 +121,7 @@ func (m *model) do(c *clerk, o op, tell func(answers ...any)) bool {
 	d := c.deal
 	switch o.kind {
 	case "begin":
-		c.next(func() bool {
+		c.Next(func() bool {
 			tell()
 			return false
 		})
@@ -169,18 +169,18 @@ func (m *model) doPlain(c *clerk, o op, tell func(answers ...any)) bool {
 	case "versions":
 		tell(len(m.list))
 	case "yield":
-		c.next(later)
+		c.Next(later)
 		return true
 	case "lock":
-		c.next(later)
-		return m.lock(c, o.n)()
+		c.Next(later)
+		return m.Lock(c.Clerk, o.n)()
 	case "unlock":
-		tell(m.unlock(c, o.n))
+		tell(m.Unlock(c.Clerk, o.n))
 	case "park":
-		c.next(later)
-		return c.park(o.n)
+		c.Next(later)
+		return c.Park(o.n)
 	case "wake":
-		tell(m.wake(o.n))
+		tell(m.Wake(o.n))
 	}
 	return false
 }
@@ -271,7 +271,7 @@ func (c chance) plain() op {
 // agree holds what scripts came to against the model.
 func agree(t *testing.T, s *stage, x api.Trace, m *model) bool {
 	t.Helper()
-	ok := slices.Equal(s.lines, m.lines) && proof.SameTrace(x, m.trace()) && s.Stable() == m.stable() && slices.Equal(s.Keys(), m.keys()) && s.Versions() == len(m.list)
+	ok := slices.Equal(s.lines, m.lines) && proof.SameTrace(x, m.Trace()) && s.Stable() == m.stable() && slices.Equal(s.Keys(), m.keys()) && s.Versions() == len(m.list)
 	for _, k := range someKeys() {
 		v, there := s.last(k)
 		want, wanted := m.last(k)
@@ -296,7 +296,7 @@ func TestScriptsAgainstModel(t *testing.T) {
 			s, x := played(made(shards), scripts, picks)
 			m := reckoned(shards, scripts, picks)
 			if !agree(t, s, x, m) {
-				t.Fatalf("%d shards, scripts %v, picks %v:\n%v %v\nnot\n%v %v", shards, scripts, picks, s.lines, x, m.lines, m.trace())
+				t.Fatalf("%d shards, scripts %v, picks %v:\n%v %v\nnot\n%v %v", shards, scripts, picks, s.lines, x, m.lines, m.Trace())
 			}
 			switch {
 			case x.Cut:
@@ -324,7 +324,7 @@ func TestScriptsAtEachCut(t *testing.T) {
 		for n := range whole.Turns + 1 {
 			s, x := played(made(shards), scripts, picks[:n])
 			if m := reckoned(shards, scripts, picks[:n]); !agree(t, s, x, m) {
-				t.Fatalf("%d shards, scripts %v, picks %v:\n%v %v\nnot\n%v %v", shards, scripts, picks[:n], s.lines, x, m.lines, m.trace())
+				t.Fatalf("%d shards, scripts %v, picks %v:\n%v %v\nnot\n%v %v", shards, scripts, picks[:n], s.lines, x, m.lines, m.Trace())
 			}
 		}
 	}
