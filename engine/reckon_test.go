@@ -17,9 +17,8 @@ type game struct {
 
 // throw throws a run in a ledger of three accounts and two assets.
 func throw(d *proof.Dice) game {
-	g := game{c: api.Config{Accounts: 3, Assets: 2, Queue: proof.Of(d, 0, 1, 2, 4, 256), Shards: proof.Of(d, 1, 2, 3, 5, 64), Workers: proof.Of(d, 0, 1, 1, 2, 3, 8)}}
-	g.sessions = d.Sessions(proof.Of(d, 1, 3, 6, 16), proof.Of(d, 3, 8, 20), proof.Of(d, 3, 12, 60))
-	return g
+	c, sessions := d.Run()
+	return game{c: c, sessions: sessions}
 }
 
 // enough gives a game as many picks as are enough, or so many that more are hardly ever.
@@ -79,22 +78,10 @@ func TestRunsAgainstModel(t *testing.T) {
 	}
 }
 
-// busy is a game in which workers have much to do: many instructions over one asset wait for the same few deposits.
+// busy is a game in which workers have much to do.
 func busy(d *proof.Dice) game {
-	g := game{c: api.Config{Accounts: 3, Assets: 2, Queue: 4 + d.Below(30), Shards: proof.Of(d, 1, 2, 4, 64), Workers: 1 + d.Below(8)}}
-	id := 0
-	for range 2 + d.Below(5) {
-		var l [][]int64
-		for range d.Below(20) {
-			account, qty := d.Below(3), int64(1+d.Below(4))
-			id++
-			next := leg(account, (account+1)%3, 0, qty, 0)
-			l = append(l, proof.Of(d, submit(id, next), submit(id, next), submit(id, next, leg((account+1)%3, account, 1, qty, 0)), deposit(account, 0, qty), deposit(account, 1, qty),
-				withdraw(account, 0, qty), cancel(1+d.Below(id)), status(1+d.Below(id)), snapshot(0, 0, 1, 0, 2, 0)))
-		}
-		g.sessions = append(g.sessions, l)
-	}
-	return g
+	c, sessions := d.BusyRun()
+	return game{c: c, sessions: sessions}
 }
 
 // TestBusyRunsAgainstModel is P20.3 and P20.4: the same where workers have much to do.

@@ -102,6 +102,31 @@ func (d *Dice) Sessions(sessions, ops, ids int) [][][]int64 {
 	return l
 }
 
+// Run is how a run of chance is set up, in a ledger of three accounts and two assets, and its sessions.
+func (d *Dice) Run() (api.Config, [][][]int64) {
+	c := api.Config{Accounts: 3, Assets: 2, Queue: Of(d, 0, 1, 2, 4, 256), Shards: Of(d, 1, 2, 3, 5, 64), Workers: Of(d, 0, 1, 1, 2, 3, 8)}
+	return c, d.Sessions(Of(d, 1, 3, 6, 16), Of(d, 3, 8, 20), Of(d, 3, 12, 60))
+}
+
+// BusyRun is a run in which workers have much to do: many instructions over one asset wait for the same few deposits.
+func (d *Dice) BusyRun() (api.Config, [][][]int64) {
+	c := api.Config{Accounts: 3, Assets: 2, Queue: 4 + d.Below(30), Shards: Of(d, 1, 2, 4, 64), Workers: 1 + d.Below(8)}
+	var sessions [][][]int64
+	id := 0
+	for range 2 + d.Below(5) {
+		var l []api.Op
+		for range d.Below(20) {
+			account, qty := d.Below(3), int64(1+d.Below(4))
+			id++
+			next, back := Leg(account, (account+1)%3, 0, qty, 0), Leg((account+1)%3, account, 1, qty, 0)
+			l = append(l, Of(d, Submit(id, next), Submit(id, next), Submit(id, next, back), Held(api.OpDeposit, account, 0, qty), Held(api.OpDeposit, account, 1, qty),
+				Held(api.OpWithdraw, account, 0, qty), Identified(api.OpCancel, 1+d.Below(id)), Identified(api.OpStatus, 1+d.Below(id)), Snapshot(0, 0, 1, 0, 2, 0)))
+		}
+		sessions = append(sessions, Rows(l...))
+	}
+	return c, sessions
+}
+
 // SameCall tells whether two calls are the same; nil and empty lists are the same.
 func SameCall(a, b api.Call) bool {
 	return a.Session == b.Session && a.Index == b.Index && SameOp(a.Op, b.Op) && a.Invoked == b.Invoked && a.Returned == b.Returned && a.Number == b.Number && SameAnswer(a.Answer, b.Answer)
@@ -115,6 +140,36 @@ func SameResult(a, b api.Result) bool {
 func junkCall() api.Call { return api.Call{Session: -88, Op: Snapshot(-89, -90), Returned: -91} }
 
 func junkSettle() api.Settle { return api.Settle{Worker: -92, Id: -93} }
+
+// RoomyCalls is a copy of calls in which all lists have spare room with junk in it.
+func RoomyCalls(l []api.Call) []api.Call {
+	out := Room(l, junkCall())
+	for i, x := range out {
+		out[i].Op, out[i].Answer = RoomyOp(x.Op), RoomyAnswer(x.Answer)
+	}
+	return out
+}
+
+// WholeCalls is a copy of calls in whose lists, and those in them, the spare room is seen too.
+func WholeCalls(l []api.Call) []api.Call {
+	out := slices.Clone(Whole(l))
+	for i, x := range out {
+		out[i].Op.Legs, out[i].Op.Pairs, out[i].Answer = slices.Clone(Whole(x.Op.Legs)), slices.Clone(Whole(x.Op.Pairs)), WholeAnswer(x.Answer)
+	}
+	return out
+}
+
+// RoomyResult is a copy of a result in which all lists have spare room with junk in it.
+func RoomyResult(r api.Result) api.Result {
+	r.Calls, r.Settles, r.State = RoomyCalls(r.Calls), Room(r.Settles, junkSettle()), RoomyState(r.State)
+	return r
+}
+
+// WholeResult is a copy of a result in whose lists, and those in them, the spare room is seen too.
+func WholeResult(r api.Result) api.Result {
+	r.Calls, r.Settles, r.State = WholeCalls(r.Calls), slices.Clone(Whole(r.Settles)), WholeState(r.State)
+	return r
+}
 
 // OverrunResult fills the spare room of a result's lists, and of those in them, as one who was given it may. If two of them shared memory, one would be changed.
 func OverrunResult(r api.Result) {

@@ -102,21 +102,51 @@ func TestSameResult(t *testing.T) {
 	}
 }
 
-// roomyResult is a copy of a result whose lists have spare room.
-func roomyResult(r api.Result) api.Result {
-	r.Calls, r.Settles, r.State = proof.Room(r.Calls, api.Call{}), proof.Room(r.Settles, api.Settle{}), proof.RoomyState(r.State)
-	for i := range r.Calls {
-		r.Calls[i].Op = proof.RoomyOp(r.Calls[i].Op)
-		r.Calls[i].Answer.Positions = proof.Room(r.Calls[i].Answer.Positions, api.Position{})
-		for k, p := range r.Calls[i].Answer.Positions {
-			r.Calls[i].Answer.Positions[k].Marks = proof.Room(p.Marks, api.Mark{})
+// TestRoomyResult: a roomy copy is the same, but it has spare room everywhere; that a copy with the spare room shows when something is turned there.
+func TestRoomyResult(t *testing.T) {
+	r := proof.RoomyResult(aResult())
+	whole := proof.WholeResult(r)
+	if !proof.SameResult(r, aResult()) || proof.SameResult(whole, aResult()) || !proof.SameResult(whole, proof.WholeResult(r)) {
+		t.Errorf("%+v, and with its spare room %+v", r, whole)
+	}
+	for n, turn := range []func(r api.Result){
+		func(r api.Result) { proof.Whole(r.Calls)[3].Invoked = 1 },
+		func(r api.Result) { proof.Whole(r.Calls[0].Op.Legs)[1].Qty = 1 },
+		func(r api.Result) { proof.Whole(r.Calls[1].Op.Pairs)[2].Asset = 1 },
+		func(r api.Result) { proof.Whole(r.Calls[1].Answer.Positions)[2].Avail = 1 },
+		func(r api.Result) { proof.Whole(r.Calls[1].Answer.Positions[0].Marks)[2].Qty = 1 },
+		func(r api.Result) { proof.Whole(r.Settles)[1].Id = 1 },
+		func(r api.Result) { proof.Whole(r.State.Queue)[len(r.State.Queue)] = 1 },
+	} {
+		r := proof.RoomyResult(aResult())
+		if turn(r); proof.SameResult(proof.WholeResult(r), whole) || !proof.SameResult(r, aResult()) {
+			t.Errorf("%d: what is turned in the spare room isn't seen", n)
 		}
 	}
-	return r
+}
+
+// TestRuns: runs of chance are right, and unlike.
+func TestRuns(t *testing.T) {
+	d := proof.Dice(8)
+	for _, throw := range []func() (api.Config, [][][]int64){d.Run, d.BusyRun} {
+		rows, workers, shards := 0, [9]int{}, [65]int{}
+		for range 500 {
+			c, sessions := throw()
+			if guard.Fits(c) != nil || c.Accounts != 3 || c.Assets != 2 || len(sessions) > api.MaxSessions || slices.ContainsFunc(sessions, func(l [][]int64) bool { return len(l) > api.MaxOps }) {
+				t.Fatalf("%+v, sessions %v", c, sessions)
+			}
+			rows += len(slices.Concat(sessions...))
+			workers[c.Workers]++
+			shards[c.Shards]++
+		}
+		if rows < 5000 || min(workers[1], workers[2], workers[8]) < 20 || min(shards[1], shards[2], shards[64]) < 20 {
+			t.Errorf("%d rows, workers %v, shards %v", rows, workers, shards)
+		}
+	}
 }
 
 func TestOverrunAndSpoilResult(t *testing.T) {
-	r := roomyResult(aResult())
+	r := proof.RoomyResult(aResult())
 	if proof.OverrunResult(r); !proof.SameResult(r, aResult()) {
 		t.Errorf("overrun, it is %+v", r)
 	}

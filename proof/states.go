@@ -150,12 +150,32 @@ func SpoilState(s api.State) {
 // spare is a list's spare room.
 func spare[T any](l []T) []T { return l[len(l):cap(l)] }
 
+func junkPosition() api.Position { return Position(-85, 86, 87) }
+
+// RoomyAnswer is a copy of an answer whose lists, and those in them, have spare room with junk in it.
+func RoomyAnswer(a api.Answer) api.Answer {
+	a.Positions = Room(a.Positions, junkPosition())
+	for i, p := range a.Positions {
+		a.Positions[i].Marks = Room(p.Marks, junkMark())
+	}
+	return a
+}
+
+// WholeAnswer is a copy of an answer in whose lists, and those in them, the spare room is seen too.
+func WholeAnswer(a api.Answer) api.Answer {
+	a.Positions = slices.Clone(Whole(a.Positions))
+	for i, p := range a.Positions {
+		a.Positions[i].Marks = slices.Clone(Whole(p.Marks))
+	}
+	return a
+}
+
 // OverrunAnswer fills the spare room of an answer's lists, as one who was given it may.
 func OverrunAnswer(a api.Answer) {
 	for _, p := range a.Positions {
 		spoil(spare(p.Marks), junkMark())
 	}
-	spoil(spare(a.Positions), Position(-85, 86, 87))
+	spoil(spare(a.Positions), junkPosition())
 }
 
 // SpoilAnswer overwrites an answer's lists, those in them, and their spare room.
@@ -163,5 +183,5 @@ func SpoilAnswer(a api.Answer) {
 	for _, p := range a.Positions {
 		spoil(Whole(p.Marks), junkMark())
 	}
-	spoil(Whole(a.Positions), Position(-85, 86, 87))
+	spoil(Whole(a.Positions), junkPosition())
 }
