@@ -112,7 +112,7 @@ func TestUnlikeNoticesHaveUnlikeTexts(t *testing.T) {
 		if err != nil {
 			t.Fatalf("Text(%+v) is %v", n, err)
 		}
-		if was, ok := seen[s]; ok && !sameNotice(was, n) {
+		if was, ok := seen[s]; ok && !proof.SameNotice(was, n) {
 			t.Errorf("%+v and %+v have the text %q", was, n, s)
 		}
 		seen[s] = n
@@ -125,7 +125,7 @@ func TestUnlikeNoticesHaveUnlikeTexts(t *testing.T) {
 			}
 			a, err := notice.Text(n)
 			b, err2 := notice.Text(other)
-			if err != nil || err2 != nil || (a == b) != sameNotice(n, other) {
+			if err != nil || err2 != nil || (a == b) != proof.SameNotice(n, other) {
 				t.Errorf("%+v and %+v have the texts %q and %q, %v, %v", n, other, a, b, err, err2)
 			}
 		}
@@ -214,7 +214,7 @@ func TestAnswersAreNewMemory(t *testing.T) {
 		from.takeBack()
 		proof.Spoil(list)
 		clear(given.Links)
-		if !proof.SameItems(l, want) || s != text || !sameNotice(one, n) || !sameNotice(two, n) {
+		if !proof.SameItems(l, want) || s != text || !proof.SameNotice(one, n) || !proof.SameNotice(two, n) {
 			t.Errorf("what is answered of %+v shares memory with what was handed in", n)
 		}
 	}
@@ -236,7 +236,7 @@ func TestAnswersShareNoMemory(t *testing.T) {
 			t.Errorf("two answers of Write(%+v) share memory: %q", n, two)
 		}
 		clear(a.Links[:cap(a.Links)])
-		if !sameNotice(b, n) {
+		if !proof.SameNotice(b, n) {
 			t.Errorf("two answers of Read(%q) share memory: %+v", want, b)
 		}
 	}
@@ -251,11 +251,11 @@ func TestVeryDeep(t *testing.T) {
 	l := messageOf(example())
 	for _, p := range append(paths(l), []int{0}) {
 		wrong := changed(l, p, func(x *api.Item) { x.Items = deep })
-		if n, err := notice.Read(wrong); !sameNotice(n, api.Notice{}) || !proof.Tells(err, api.ErrForm) {
+		if n, err := notice.Read(wrong); !proof.SameNotice(n, api.Notice{}) || !proof.Tells(err, api.ErrForm) {
 			t.Errorf("Read is %+v, %v (%+v)", n, err, err)
 		}
 	}
-	if n, err := notice.Read(deep); !sameNotice(n, api.Notice{}) || !proof.Tells(err, api.ErrForm) {
+	if n, err := notice.Read(deep); !proof.SameNotice(n, api.Notice{}) || !proof.Tells(err, api.ErrForm) {
 		t.Errorf("Read is %+v, %v (%+v)", n, err, err)
 	}
 }

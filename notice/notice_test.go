@@ -3,7 +3,6 @@ package notice_test
 import (
 	"fmt"
 	"math/big"
-	"reflect"
 	"regexp"
 	"slices"
 	"strconv"
@@ -106,13 +105,6 @@ func ordinary() []api.Notice {
 		}
 	}
 	return out
-}
-
-// sameNotice tells whether two notices are the same; no links and an empty list are.
-func sameNotice(a, b api.Notice) bool {
-	links := slices.Equal(a.Links, b.Links)
-	a.Links, b.Links = nil, nil
-	return links && reflect.DeepEqual(a, b)
 }
 
 // A second reckoning of Check: forms by regular expressions, and all that is wrong in a row.
@@ -502,7 +494,7 @@ func writes(t *testing.T, n api.Notice) {
 	if !proof.SameItems(l, want) || len(want) == 0 && l != nil {
 		t.Errorf("Write(%+v) is %q; want %q", n, l, want)
 	}
-	if !sameNotice(given, n) || !untouched(given.Links) {
+	if !proof.SameNotice(given, n) || !untouched(given.Links) {
 		t.Errorf("Check, Write or Text changes %+v", n)
 	}
 	if s != printed(t, want) {
@@ -511,10 +503,10 @@ func writes(t *testing.T, n api.Notice) {
 	if no != api.OK {
 		return
 	}
-	if got, err := notice.Read(l); err != nil || !sameNotice(got, n) {
+	if got, err := notice.Read(l); err != nil || !proof.SameNotice(got, n) {
 		t.Errorf("Read(Write(%+v)) is %+v, %v", n, got, err)
 	}
-	if got, err := notice.Of(s); err != nil || !sameNotice(got, n) {
+	if got, err := notice.Of(s); err != nil || !proof.SameNotice(got, n) {
 		t.Errorf("Of(Text(%+v)) is %+v, %v", n, got, err)
 	}
 }

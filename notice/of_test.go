@@ -19,7 +19,7 @@ func ofs(t *testing.T, s string) {
 	var place api.Fault
 	if wrong == nil {
 		want, no := reckoned(l)
-		if !sameNotice(n, want) || !proof.Tells(err, no) {
+		if !proof.SameNotice(n, want) || !proof.Tells(err, no) {
 			t.Errorf("Of(%q) is %+v, %v (%+v); want %+v, %v", s, n, err, err, want, no)
 		}
 		if again, err := notice.Text(n); no == api.OK && (err != nil || again != s) {
@@ -30,7 +30,7 @@ func ofs(t *testing.T, s string) {
 	if !errors.As(wrong, &place) {
 		t.Fatalf("Parse(%.100q) is %v", s, wrong)
 	}
-	if !sameNotice(n, api.Notice{}) || !proof.TellsAt(err, place.No, place.Line, place.At) {
+	if !proof.SameNotice(n, api.Notice{}) || !proof.TellsAt(err, place.No, place.Line, place.At) {
 		t.Errorf("Of(%q) is %+v, %v (%+v); want %+v", s, n, err, err, place)
 	}
 }
@@ -50,7 +50,7 @@ func TestExample(t *testing.T) {
 	if s, err := notice.Text(example()); s != exampleText || err != nil {
 		t.Errorf("Text of the example is %q, %v", s, err)
 	}
-	if n, err := notice.Of(exampleText); !sameNotice(n, example()) || err != nil {
+	if n, err := notice.Of(exampleText); !proof.SameNotice(n, example()) || err != nil {
 		t.Errorf("Of the example is %+v, %v", n, err)
 	}
 	ofs(t, exampleText)
@@ -81,13 +81,13 @@ func TestExamplesTurned(t *testing.T) {
 		{":16R:FIAC\n", ":16R:FIAC\n:20C:A\n", api.ErrForm},
 	} {
 		s := replaced(t, x.old, x.by)
-		if n, err := notice.Of(s); !sameNotice(n, api.Notice{}) || !proof.Tells(err, x.no) {
+		if n, err := notice.Of(s); !proof.SameNotice(n, api.Notice{}) || !proof.Tells(err, x.no) {
 			t.Errorf("with %q Of is %+v, %v (%+v); want %v", x.by, n, err, err, x.no)
 		}
 		ofs(t, s)
 	}
 	n, err := notice.Of(replaced(t, ":16R:LINK\n:22F::LINK//BEFO\n:20C::RELA//B2\n:16S:LINK\n", ""))
-	if want := turned(example(), linked(0)); !sameNotice(n, want) || err != nil {
+	if want := turned(example(), linked(0)); !proof.SameNotice(n, want) || err != nil {
 		t.Errorf("without a link Of is %+v, %v", n, err)
 	}
 }
@@ -114,7 +114,7 @@ func TestFaultsOfTexts(t *testing.T) {
 		{":20C::SEME//A1", ":20C::SEME//\n\n", api.ErrForm, 3, 1},
 	} {
 		s := replaced(t, x.old, x.by)
-		if n, err := notice.Of(s); !sameNotice(n, api.Notice{}) || !proof.TellsAt(err, x.no, x.line, x.at) {
+		if n, err := notice.Of(s); !proof.SameNotice(n, api.Notice{}) || !proof.TellsAt(err, x.no, x.line, x.at) {
 			t.Errorf("with %q Of is %+v, %v (%+v); want %v at %d %d", x.by, n, err, err, x.no, x.line, x.at)
 		}
 		ofs(t, s)
@@ -123,16 +123,16 @@ func TestFaultsOfTexts(t *testing.T) {
 
 func TestTextsThatAreTooLong(t *testing.T) {
 	for _, s := range []string{strings.Repeat("A", api.MaxText+1), exampleText + strings.Repeat("\n", api.MaxText+1-len(exampleText))} {
-		if n, err := notice.Of(s); !sameNotice(n, api.Notice{}) || !proof.Tells(err, api.ErrMany) {
+		if n, err := notice.Of(s); !proof.SameNotice(n, api.Notice{}) || !proof.Tells(err, api.ErrMany) {
 			t.Errorf("Of %d bytes is %+v, %v (%+v)", len(s), n, err, err)
 		}
 	}
 	long := replaced(t, "A1", strings.Repeat("A", api.MaxText+2-len(exampleText)))
-	if n, err := notice.Of(long); len(long) != api.MaxText || !sameNotice(n, api.Notice{}) || !proof.Tells(err, api.ErrText) {
+	if n, err := notice.Of(long); len(long) != api.MaxText || !proof.SameNotice(n, api.Notice{}) || !proof.Tells(err, api.ErrText) {
 		t.Errorf("Of %d bytes is %+v, %v (%+v)", len(long), n, err, err)
 	}
 	many := replaced(t, ":16S:GENL\n", strings.Repeat(":16R:LINK\n:22F::LINK//WITH\n:20C::RELA//C\n:16S:LINK\n", 18000)+":16S:GENL\n")
-	if n, err := notice.Of(many); !sameNotice(n, api.Notice{}) || !proof.Tells(err, api.ErrMany) {
+	if n, err := notice.Of(many); !proof.SameNotice(n, api.Notice{}) || !proof.Tells(err, api.ErrMany) {
 		t.Errorf("Of 18001 links is %+v, %v (%+v)", n, err, err)
 	}
 }

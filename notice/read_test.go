@@ -17,7 +17,7 @@ func reads(t *testing.T, l []api.Item) {
 	want, no := reckoned(l)
 	given := proof.Roomy(l)
 	n, err := notice.Read(given)
-	if !sameNotice(n, want) || !proof.Tells(err, no) {
+	if !proof.SameNotice(n, want) || !proof.Tells(err, no) {
 		t.Errorf("Read(%q) is %+v, %v (%+v); want %+v, %v", l, n, err, err, want, no)
 	}
 	if !proof.SameItems(given, l) || !proof.Untouched(given) {
@@ -40,7 +40,7 @@ func reads(t *testing.T, l []api.Item) {
 // refuses checks that Read answers just this error, and nothing beside it.
 func refuses(t *testing.T, no api.Errno, l []api.Item) {
 	t.Helper()
-	if n, err := notice.Read(l); !sameNotice(n, api.Notice{}) || !proof.Tells(err, no) {
+	if n, err := notice.Read(l); !proof.SameNotice(n, api.Notice{}) || !proof.Tells(err, no) {
 		t.Errorf("Read(%q) is %+v, %v (%+v); want %v", l, n, err, err, no)
 	}
 	reads(t, l)
@@ -49,7 +49,7 @@ func refuses(t *testing.T, no api.Errno, l []api.Item) {
 // takes checks that Read answers this notice.
 func takes(t *testing.T, want api.Notice, l []api.Item) {
 	t.Helper()
-	if n, err := notice.Read(l); !sameNotice(n, want) || err != nil {
+	if n, err := notice.Read(l); !proof.SameNotice(n, want) || err != nil {
 		t.Errorf("Read(%q) is %+v, %v; want %+v", l, n, err, want)
 	}
 	reads(t, l)

@@ -181,7 +181,7 @@ func TestFaultsOfCheckAreRead(t *testing.T) {
 				}
 				l := messageOf(wrong)
 				reads(t, l)
-				if told, ok := toldBy(l); ok && sameNotice(told, wrong) {
+				if told, ok := toldBy(l); ok && proof.SameNotice(told, wrong) {
 					refuses(t, judged(wrong), l)
 				}
 			}

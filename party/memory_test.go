@@ -21,16 +21,10 @@ func TestLegsLeavesTheNotice(t *testing.T) {
 		all := slices.Clone(proof.Whole(n.Links))
 		m := n
 		d.Legs(n)
-		if !slices.Equal(proof.Whole(n.Links), all) || len(n.Links) != len(links) || !sameNotice(n, m) {
+		if !slices.Equal(proof.Whole(n.Links), all) || len(n.Links) != len(links) || !proof.SameNotice(n, m) {
 			t.Errorf("the notice became %+v", n)
 		}
 	}
-}
-
-func sameNotice(a, b api.Notice) bool {
-	same := slices.Equal(a.Links, b.Links)
-	a.Links, b.Links = nil, nil
-	return same && a.Ref == b.Ref && a.Prev == b.Prev && a.Receive == b.Receive && a.Pay == b.Pay && a.Code == b.Code && a.Qty == b.Qty && a.Account == b.Account && a.Agent == b.Agent && a.Other == b.Other && a.Amount == b.Amount && a.Currency == b.Currency
 }
 
 // R3: no links and an empty list of them are the same.
