@@ -35,14 +35,6 @@ func someOps() []api.Op {
 	return ops
 }
 
-// spoilAll overwrites a list, and its spare room.
-func spoilAll[T any](l []T, junk T) {
-	l = proof.Whole(l)
-	for i := range l {
-		l[i] = junk
-	}
-}
-
 // R4: rows that are read are not changed, their spare room included.
 func TestDecodeLeavesTheRow(t *testing.T) {
 	for _, of := range someRows() {
@@ -81,7 +73,7 @@ func TestDecodedIsNew(t *testing.T) {
 		if !slices.Equal(proof.Whole(raw), all) || !same(two, want) {
 			t.Errorf("the answer of Decode(%d) is shared", of)
 		}
-		spoilAll(raw, junkNumber)
+		proof.Overwrite(raw, junkNumber)
 		if !same(two, want) {
 			t.Errorf("the answer of Decode(%d) hangs on its row", of)
 		}
@@ -99,7 +91,7 @@ func TestEncodedIsNew(t *testing.T) {
 		o := roomy(of)
 		one, _ := guard.Encode(o)
 		two, _ := guard.Encode(o)
-		spoilAll(one, junkNumber)
+		proof.Overwrite(one, junkNumber)
 		_ = append(one, junkNumber, junkNumber)
 		if !same(o, of) || !slices.Equal(two, want) {
 			t.Errorf("the answer of Encode(%+v) is shared", of)
@@ -108,7 +100,7 @@ func TestEncodedIsNew(t *testing.T) {
 		if !slices.Equal(two, want) {
 			t.Errorf("the answer of Encode(%+v) hangs on its argument", of)
 		}
-		spoilAll(two, junkNumber)
+		proof.Overwrite(two, junkNumber)
 		if again, err := guard.Encode(of); !slices.Equal(again, want) || !proof.Tells(err, no) {
 			t.Errorf("Encode(%+v) became %d, %v", of, again, err)
 		}

@@ -25,13 +25,6 @@ func sameLists(a, b [][]int) bool {
 	return slices.EqualFunc(a, b, func(a, b []int) bool { return slices.Equal(a, b) })
 }
 
-// spoil overwrites a list and its spare room.
-func spoil[T any](l []T, with T) {
-	for i := range proof.Whole(l) {
-		proof.Whole(l)[i] = with
-	}
-}
-
 func TestSetLeavesItsArgument(t *testing.T) {
 	d := roll(920)
 	for range 500 {
@@ -39,11 +32,11 @@ func TestSetLeavesItsArgument(t *testing.T) {
 		old := slices.Clone(proof.Whole(l))
 		first, second := locks.Set(l), locks.Set(l)
 		want := slices.Clone(second)
-		spoil(first, junk)
+		proof.Overwrite(first, junk)
 		if !slices.Equal(proof.Whole(l), old) || !slices.Equal(second, want) {
 			t.Fatalf("Set of %v has left %v; another answer is %v", old, proof.Whole(l), second)
 		}
-		spoil(l, 0)
+		proof.Overwrite(l, 0)
 		if !slices.Equal(second, want) {
 			t.Fatalf("Set of %v shares its memory", old)
 		}
@@ -63,7 +56,7 @@ func TestAcquireKeepsACopy(t *testing.T) {
 			}
 		}
 	})
-	r.Go(func(t *sched.Task) { spoil(set, 7) })
+	r.Go(func(t *sched.Task) { proof.Overwrite(set, 7) })
 	if x, want := r.Run(), proof.Noted([3]int{0, 0, 1}, [3]int{0, 0, 2}, [3]int{0, 0, 3}); !slices.Equal(x.Events, want) {
 		t.Errorf("%v, not %v", x.Events, want)
 	}
@@ -86,7 +79,7 @@ func TestEdgesAndRingLeaveTheirArguments(t *testing.T) {
 		oldWaiting, oldHolder := slices.Clone(proof.Whole(waiting)), slices.Clone(proof.Whole(holder))
 		first, second := locks.Edges(waiting, holder), locks.Edges(waiting, holder)
 		want := slices.Clone(second)
-		spoil(first, [2]int{junk, junk})
+		proof.Overwrite(first, [2]int{junk, junk})
 		if !slices.Equal(second, want) || !slices.Equal(proof.Whole(waiting), oldWaiting) || !slices.Equal(proof.Whole(holder), oldHolder) {
 			t.Fatalf("Edges of %v and %v has left %v and %v; another answer is %v", oldWaiting, oldHolder, proof.Whole(waiting), proof.Whole(holder), second)
 		}
@@ -96,7 +89,7 @@ func TestEdgesAndRingLeaveTheirArguments(t *testing.T) {
 		ring, _ := locks.Ring(l)
 		other, _ := locks.Ring(l)
 		wantRing := slices.Clone(other)
-		spoil(ring, junk)
+		proof.Overwrite(ring, junk)
 		if !slices.Equal(other, wantRing) || !slices.Equal(proof.Whole(l), oldEdges) {
 			t.Fatalf("Ring of %v has left %v; another answer is %v", oldEdges, proof.Whole(l), other)
 		}

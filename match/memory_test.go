@@ -124,9 +124,9 @@ func TestAnswersAreNew(t *testing.T) {
 		again, still, more := x.b.Open(), x.b.Alleged(1), x.b.Pairs()
 		one, _ := x.b.Side(0)
 		two, _ := x.b.Side(0)
-		spoil(open, -7)
-		spoil(alleged, -7)
-		spoil(pairs, pair(-7, -7, -7))
+		proof.Overwrite(open, -7)
+		proof.Overwrite(alleged, -7)
+		proof.Overwrite(pairs, pair(-7, -7, -7))
 		proof.SpoilNotice(one.Notice)
 		if !slices.Equal(again, []int{2, 3}) || !slices.Equal(still, []int{2, 3}) || !slices.Equal(more, []api.Pair{pair(0, 1, 5000)}) || !sameSide(two, d("D1", linked)) {
 			t.Fatalf("other answers became %v, %v, %v, %+v", again, still, more, two)
@@ -141,13 +141,6 @@ func TestAnswersAreNew(t *testing.T) {
 	x.add(5, -1, r("R3"))
 	if !slices.Equal(open, []int{2, 3}) || !slices.Equal(alleged, []int{2, 3}) || !slices.Equal(pairs, []api.Pair{pair(0, 1, 5000)}) {
 		t.Errorf("answers became %v, %v, %v", open, alleged, pairs)
-	}
-}
-
-func spoil[T any](l []T, junk T) {
-	l = proof.Whole(l)
-	for at := range l {
-		l[at] = junk
 	}
 }
 

@@ -9,3 +9,6 @@ func Room[T any](l []T, junk T) []T {
 
 // Whole is a list with its spare room.
 func Whole[T any](l []T) []T { return l[:cap(l)] }
+
+// Overwrite overwrites a list, and its spare room.
+func Overwrite[T any](l []T, junk T) { spoil(Whole(l), junk) }

@@ -158,6 +158,15 @@ func TestRoom(t *testing.T) {
 	}
 }
 
+func TestOverwrite(t *testing.T) {
+	l := []int{1, 2, 3, 4, 5}
+	proof.Overwrite(l[1:2:4], 9)
+	if !slices.Equal(l, []int{1, 9, 9, 9, 5}) {
+		t.Errorf("Overwrite leaves %v", l)
+	}
+	proof.Overwrite(nil, 9)
+}
+
 // Traces
 
 func TestPicks(t *testing.T) {

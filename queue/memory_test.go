@@ -57,8 +57,8 @@ func TestAnswersAreNew(t *testing.T) {
 		}
 		for range 2 {
 			items, idle, more, still := q.Items(), q.Idle(), q.Items(), q.Idle()
-			spoil(items)
-			spoil(idle)
+			proof.Overwrite(items, -7)
+			proof.Overwrite(idle, -7)
 			if !slices.Equal(more, all) || !slices.Equal(still, all) || !slices.Equal(q.Items(), all) || !slices.Equal(q.Idle(), all) {
 				t.Fatalf("of %d: other answers are %v and %v", count, more, still)
 			}
@@ -74,13 +74,6 @@ func TestAnswersAreNew(t *testing.T) {
 		if !slices.Equal(items, all) || !slices.Equal(idle, all) {
 			t.Fatalf("answers of %d became %v and %v", count, items, idle)
 		}
-	}
-}
-
-func spoil(l []int) {
-	l = proof.Whole(l)
-	for at := range l {
-		l[at] = -7
 	}
 }
 

@@ -13,13 +13,6 @@ import (
 	"custody/tx"
 )
 
-// spoil overwrites a list and its spare room.
-func spoil[T any](l []T, with T) {
-	for i := range proof.Whole(l) {
-		proof.Whole(l)[i] = with
-	}
-}
-
 // TestKeysAreLeft is R4: the lists that Begin and Read are handed, and their spare room, stay as they are.
 func TestKeysAreLeft(t *testing.T) {
 	d := roll(1220)
@@ -62,7 +55,7 @@ func TestKeysAreCopied(t *testing.T) {
 	}
 	second := func(task *sched.Task) {
 		for range 12 {
-			spoil(list, c)
+			proof.Overwrite(list, c)
 			task.Yield()
 		}
 	}
@@ -82,13 +75,13 @@ func TestReadsAreNewMemory(t *testing.T) {
 		x.Commit()
 		_, first := m.Read(task, keys(k, k))
 		_, second := m.Read(task, keys(k, k))
-		spoil(first, 9)
+		proof.Overwrite(first, 9)
 		_, third := m.Read(task, keys(k, k))
 		if want := ints(5, 5); !slices.Equal(second, want) || !slices.Equal(third, want) {
 			t.Errorf("answers share memory: %v, %v", second, third)
 		}
 		list, other := m.Keys(), m.Keys()
-		spoil(list, key(9, 9))
+		proof.Overwrite(list, key(9, 9))
 		if !slices.Equal(other, keys(k)) || !slices.Equal(m.Keys(), keys(k)) {
 			t.Errorf("Keys share memory: %v, %v", other, m.Keys())
 		}
@@ -222,10 +215,10 @@ func TestPlayLeavesItsArguments(t *testing.T) {
 
 // overrun fills the spare room of all lists, as one who was given them may. If two of them shared memory, one would be changed.
 func overrun(x api.Played) {
-	spoil(x.Dones[len(x.Dones):], api.Done{Task: 77, Reads: numbers(77)})
-	spoil(x.Values[len(x.Values):], 77)
+	proof.Overwrite(x.Dones[len(x.Dones):], api.Done{Task: 77, Reads: numbers(77)})
+	proof.Overwrite(x.Values[len(x.Values):], 77)
 	for n := range x.Dones {
-		spoil(x.Dones[n].Reads[len(x.Dones[n].Reads):], int64(n))
+		proof.Overwrite(x.Dones[n].Reads[len(x.Dones[n].Reads):], int64(n))
 	}
 }
 
@@ -243,10 +236,10 @@ func TestPlayedIsNewMemory(t *testing.T) {
 			t.Fatalf("lists share memory: %+v, not %+v", first, want)
 		}
 		for _, x := range first.Dones {
-			spoil(x.Reads, 77)
+			proof.Overwrite(x.Reads, 77)
 		}
-		spoil(first.Dones, api.Done{Task: 77})
-		spoil(first.Values, 77)
+		proof.Overwrite(first.Dones, api.Done{Task: 77})
+		proof.Overwrite(first.Values, 77)
 		third, _ := tx.Play(tasks, 8, shards, picks)
 		if !samePlayed(second, want) || !samePlayed(third, want) {
 			t.Fatalf("answers share memory: %+v, %+v, not %+v", second, third, want)
