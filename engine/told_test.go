@@ -14,8 +14,9 @@ import (
 const most = api.MaxAmount
 
 var (
-	pos = proof.Position
-	leg = proof.Leg
+	pos   = proof.Position
+	leg   = proof.Leg
+	holds = proof.Balance
 )
 
 // Rows of operations
@@ -87,10 +88,6 @@ func calls(sessions [][][]int64, lines ...[]line) []api.Call {
 }
 
 // States
-
-func holds(account, asset int, p api.Position) api.Balance {
-	return api.Balance{Key: api.Key{Account: account, Asset: asset}, Position: p}
-}
 
 func held(l ...api.Balance) []api.Balance { return l }
 

@@ -18,6 +18,7 @@ const (
 var (
 	pos      = proof.Position
 	leg      = proof.Leg
+	holds    = proof.Balance
 	held     = proof.Held
 	marked   = proof.Marked
 	submit   = proof.Submit
@@ -34,10 +35,6 @@ func said(status int) api.Answer { return api.Answer{Status: status} }
 
 // setup is the configuration of a small ledger whose queue has room for so many.
 func setup(queue int) api.Config { return api.Config{Accounts: 3, Assets: 2, Queue: queue, Shards: 1} }
-
-func holds(account, asset int, p api.Position) api.Balance {
-	return api.Balance{Key: key(account, asset), Position: p}
-}
 
 func record(id, status int, legs ...api.Leg) api.Instruction {
 	return api.Instruction{Id: id, Record: api.Record{Status: status, Legs: legs}}

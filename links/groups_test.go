@@ -98,7 +98,7 @@ func TestThrownGroups(t *testing.T) {
 		l := throwPairs(&d, n, d.Below(2*n+1))
 		if d.Below(4) == 0 {
 			l = append(l, [2]int{d.Number(), d.Number()})
-			swap(&d, l)
+			proof.Shuffle(&d, l)
 		}
 		want, fails := groupsAgain(n, l)
 		if fails != nil {
@@ -118,14 +118,6 @@ func throwPairs(d *proof.Dice, n, count int) [][2]int {
 		l = append(l, [2]int{d.Below(n), d.Below(n)})
 	}
 	return l
-}
-
-// swap puts things into any order.
-func swap[T any](d *proof.Dice, l []T) {
-	for at := range l {
-		other := at + d.Below(len(l)-at)
-		l[at], l[other] = l[other], l[at]
-	}
 }
 
 // chain ties each thing to the next one.
@@ -153,7 +145,7 @@ func TestLongRows(t *testing.T) {
 	backward := chain(n)
 	slices.Reverse(backward)
 	mixed := chain(n)
-	swap(&d, mixed)
+	proof.Shuffle(&d, mixed)
 	doubled := slices.Concat(mixed, chain(n), backward)
 	for _, l := range [][][2]int{chain(n), backward, mixed, doubled} {
 		for _, l := range [][][2]int{l, turned(l)} {

@@ -56,7 +56,7 @@ func TestGroupsHangOnTheSetOfPairs(t *testing.T) {
 		l := throwPairs(&d, n, d.Below(n+1))
 		want, err := links.Groups(n, l)
 		more := slices.Concat(l, turned(l), l)
-		swap(&d, more)
+		proof.Shuffle(&d, more)
 		grouped(t, n, more, want, err)
 	}
 }
@@ -137,7 +137,7 @@ func TestOrderAndRingHangOnTheSetOfEdges(t *testing.T) {
 		row, err := links.Order(n, l, priority)
 		ring, _ := links.Ring(n, l)
 		more := slices.Concat(l, l, l[len(l)/2:])
-		swap(&d, more)
+		proof.Shuffle(&d, more)
 		ordered(t, n, more, priority, row, err)
 		rings(t, n, more, ring...)
 	}

@@ -30,8 +30,6 @@ func upTo(n int) []int {
 	return l
 }
 
-func sameLists(a, b [][]int) bool { return slices.EqualFunc(a, b, slices.Equal[[]int]) }
-
 // lostAt is the error of a place, ErrLost.
 func lostAt(at int) error { return api.Fault{No: api.ErrLost, At: at} }
 
@@ -78,7 +76,7 @@ func rings(t *testing.T, n int, before [][2]int, want ...int) {
 // resolved holds Resolve against what is wanted of it.
 func resolved(t *testing.T, l []api.Notice, want [][]int, fails error) {
 	t.Helper()
-	if got, err := links.Resolve(l); !sameLists(got, want) || !sameError(err, fails) {
+	if got, err := links.Resolve(l); !proof.SameLists(got, want) || !sameError(err, fails) {
 		t.Fatalf("Resolve(%+v) is %v, %#v, not %v, %#v", l, got, err, want, fails)
 	}
 }

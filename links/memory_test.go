@@ -73,29 +73,6 @@ func spoilNotices(l []api.Notice) {
 	proof.Overwrite(l, junkNotice)
 }
 
-// overrun fills the spare room of lists, as one who was given them may: if two of them shared memory, one would be changed.
-func overrun(l [][]int) {
-	for _, x := range l {
-		proof.Overwrite(x[len(x):], junk)
-	}
-	proof.Overwrite(l[len(l):], ints(junk))
-}
-
-func spoilLists(l [][]int) {
-	for _, x := range l {
-		proof.Overwrite(x, junk)
-	}
-	proof.Overwrite(l, ints(junk))
-}
-
-func copied(l [][]int) [][]int {
-	var out [][]int
-	for _, x := range l {
-		out = append(out, slices.Clone(x))
-	}
-	return out
-}
-
 // TestNoticesAreLeft is R4 of Resolve.
 func TestNoticesAreLeft(t *testing.T) {
 	d := proof.Dice(2331)
@@ -104,15 +81,15 @@ func TestNoticesAreLeft(t *testing.T) {
 		old := wholeNotices(l)
 		one, _ := links.Resolve(l)
 		two, _ := links.Resolve(l)
-		want := copied(two)
-		if overrun(one); !sameLists(one, want) {
+		want := proof.CopyLists(two)
+		if proof.OverrunLists(one, junk); !proof.SameLists(one, want) {
 			t.Fatalf("Resolve(%+v): lists of %v share memory", l, want)
 		}
-		spoilLists(one)
-		if !sameLists(two, want) || !slices.EqualFunc(wholeNotices(l), old, proof.SameNotice) {
+		proof.SpoilLists(one, junk)
+		if !proof.SameLists(two, want) || !slices.EqualFunc(wholeNotices(l), old, proof.SameNotice) {
 			t.Fatalf("Resolve(%+v) is %v, not %v, and has left %+v", old, two, want, wholeNotices(l))
 		}
-		if spoilNotices(l); !sameLists(two, want) {
+		if spoilNotices(l); !proof.SameLists(two, want) {
 			t.Fatalf("Resolve(%+v) became %v, and was %v", old, two, want)
 		}
 	}

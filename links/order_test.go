@@ -139,7 +139,7 @@ func TestOrderOfAllWebs(t *testing.T) {
 // throwEdges throws edges, mostly such that all lead up in some order of the things.
 func throwEdges(d *proof.Dice, n, count int) [][2]int {
 	rank := upTo(n)
-	swap(d, rank)
+	proof.Shuffle(d, rank)
 	l := throwPairs(d, n, count)
 	for at, e := range l {
 		if rank[e[0]] > rank[e[1]] && d.Below(4*len(l)) > 0 {
@@ -171,7 +171,7 @@ func TestThrownOrders(t *testing.T) {
 		}
 		if d.Below(10) == 0 {
 			l = append(l, [2]int{d.Number(), d.Number()})
-			swap(&d, l)
+			proof.Shuffle(&d, l)
 		}
 		want, fails := orderAgain(n, l, priority)
 		seen[number(fails)]++
@@ -192,7 +192,7 @@ func TestLongOrders(t *testing.T) {
 	slices.Reverse(back)
 	for _, priority := range [][]int{upTo(n), back, make([]int, n), throwPriorities(&d, n)} {
 		l := chain(n)
-		swap(&d, l)
+		proof.Shuffle(&d, l)
 		ordered(t, n, l, priority, upTo(n), nil)
 		ordered(t, n, turned(l), priority, back, nil)
 		ordered(t, n, append(l, [2]int{n - 1, 0}), priority, nil, api.ErrLoop)

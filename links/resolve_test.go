@@ -174,7 +174,7 @@ const refs = "ABCDEFGH"
 // throwNotices throws up to eight notices with a few links, seldom with something wrong; edges mostly lead up.
 func throwNotices(d *proof.Dice) []api.Notice {
 	names := []byte(refs)
-	swap(d, names)
+	proof.Shuffle(d, names)
 	var l []api.Notice
 	for x := range d.Below(len(names) + 1) {
 		l = append(l, notice(string(names[x]), proof.Of(d, 0, d.Below(4), d.Number())))

@@ -95,7 +95,7 @@ func TestThrownRings(t *testing.T) {
 		for range d.Below(3) {
 			l = append(l, [2]int{d.Number(), d.Number()})
 		}
-		swap(&d, l)
+		proof.Shuffle(&d, l)
 		want, _ := ringAgain(n, l)
 		switch {
 		case len(want) == 0:

@@ -21,10 +21,6 @@ func copyWhole(l [][]int) [][]int {
 	return out
 }
 
-func sameLists(a, b [][]int) bool {
-	return slices.EqualFunc(a, b, func(a, b []int) bool { return slices.Equal(a, b) })
-}
-
 func TestSetLeavesItsArgument(t *testing.T) {
 	d := roll(920)
 	for range 500 {
@@ -115,7 +111,7 @@ func TestPlayLeavesItsArguments(t *testing.T) {
 		}
 		mustPlay(t, tasks, ordered, picks)
 		for i, sets := range proof.Whole(tasks) {
-			if now := copyWhole(sets); !sameLists(now, lists[i]) {
+			if now := copyWhole(sets); !proof.SameLists(now, lists[i]) {
 				t.Fatalf("the sets of task %d were %v, and are %v", i, lists[i], now)
 			}
 		}

@@ -12,3 +12,42 @@ func Whole[T any](l []T) []T { return l[:cap(l)] }
 
 // Overwrite overwrites a list, and its spare room.
 func Overwrite[T any](l []T, junk T) { spoil(Whole(l), junk) }
+
+// Shuffle puts things into any order.
+func Shuffle[T any](d *Dice, l []T) {
+	for at := range l {
+		other := at + d.Below(len(l)-at)
+		l[at], l[other] = l[other], l[at]
+	}
+}
+
+// SameLists tells whether two lists of lists are the same; nil and empty lists are the same.
+func SameLists(a, b [][]int) bool { return slices.EqualFunc(a, b, slices.Equal[[]int]) }
+
+// CopyLists is a copy of lists, and of those in them.
+func CopyLists(l [][]int) [][]int {
+	var out [][]int
+	for _, x := range l {
+		out = append(out, slices.Clone(x))
+	}
+	return out
+}
+
+// OverrunLists fills the spare room of lists, and of those in them, as one who was given them may: if two of them shared memory, one would be changed.
+func OverrunLists(l [][]int, junk int) {
+	for _, x := range l {
+		spoil(spare(x), junk)
+	}
+	spoil(spare(l), []int{junk})
+}
+
+// SpoilLists overwrites lists, those in them, and their spare room.
+func SpoilLists(l [][]int, junk int) {
+	for _, x := range l {
+		Overwrite(x, junk)
+	}
+	Overwrite(l, []int{junk})
+}
+
+// spare is a list's spare room.
+func spare[T any](l []T) []T { return l[len(l):cap(l)] }

@@ -167,6 +167,56 @@ func TestOverwrite(t *testing.T) {
 	proof.Overwrite(nil, 9)
 }
 
+func TestShuffle(t *testing.T) {
+	d := proof.Dice(5)
+	seen := map[[3]int]int{}
+	for range 1000 {
+		l := []int{1, 2, 3}
+		proof.Shuffle(&d, l)
+		seen[[3]int(l)]++
+		if slices.Sort(l); !slices.Equal(l, []int{1, 2, 3}) {
+			t.Fatalf("Shuffle leaves %v", l)
+		}
+	}
+	if len(seen) != 6 {
+		t.Errorf("of six orders there were %v", seen)
+	}
+	proof.Shuffle(&d, []int(nil))
+}
+
+func TestSameLists(t *testing.T) {
+	of := func() [][]int { return [][]int{{1, 2}, nil, {3}} }
+	if !proof.SameLists(of(), of()) || !proof.SameLists(nil, [][]int{}) || !proof.SameLists(of(), [][]int{{1, 2}, {}, {3}}) {
+		t.Error("the same are not the same")
+	}
+	for at, l := range [][][]int{nil, {{1, 2}, nil}, {{1, 2}, {3}}, {{2, 1}, nil, {3}}, {{1, 2}, nil, {3, 3}}, {{1, 2}, {3}, nil}} {
+		if proof.SameLists(l, of()) || proof.SameLists(of(), l) {
+			t.Errorf("list %d is taken for the same", at)
+		}
+	}
+}
+
+func TestListsWithRoom(t *testing.T) {
+	row := []int{1, 2, 3, 4}
+	l := append(make([][]int, 0, 4), row[:1:2], row[2:3])
+	copied := proof.CopyLists(l)
+	proof.OverrunLists(l, 9)
+	if all := proof.Whole(l); !proof.SameLists(l, [][]int{{1}, {3}}) || !slices.Equal(row, []int{1, 9, 3, 9}) || !slices.Equal(all[2], []int{9}) || !slices.Equal(all[3], []int{9}) {
+		t.Errorf("OverrunLists leaves %v, and %v", all, row)
+	}
+	proof.SpoilLists(l, 8)
+	if all := proof.Whole(l); !proof.SameLists(all, [][]int{{8}, {8}, {8}, {8}}) || !slices.Equal(row, []int{8, 8, 8, 8}) {
+		t.Errorf("SpoilLists leaves %v, and %v", all, row)
+	}
+	if !proof.SameLists(copied, [][]int{{1}, {3}}) {
+		t.Errorf("the copy became %v", copied)
+	}
+	shared := [][]int{row[:2], row[2:]}
+	if proof.OverrunLists(shared, 7); shared[1][0] != 7 {
+		t.Error("two lists share memory, and it isn't seen")
+	}
+}
+
 // Traces
 
 func TestPicks(t *testing.T) {

@@ -84,14 +84,12 @@ func Wide(high, low uint64) *big.Int {
 
 // SameState tells whether two states are the same; nil and empty lists are the same.
 func SameState(a, b api.State) bool {
-	return slices.EqualFunc(a.Balances, b.Balances, func(x, y api.Balance) bool { return x.Key == y.Key && SamePosition(x.Position, y.Position) }) &&
+	return SameBalances(a.Balances, b.Balances) &&
 		slices.EqualFunc(a.Instructions, b.Instructions, func(x, y api.Instruction) bool { return x.Id == y.Id && SameRecord(x.Record, y.Record) }) &&
 		slices.Equal(a.Queue, b.Queue)
 }
 
 const junkId = -80
-
-func junkBalance() api.Balance { return api.Balance{Key: junkKey(), Position: Position(-81, 82, 83)} }
 
 func junkInstruction() api.Instruction {
 	return api.Instruction{Id: junkId, Record: api.Record{Status: -84, Legs: []api.Leg{junkLeg()}}}
@@ -99,10 +97,7 @@ func junkInstruction() api.Instruction {
 
 // RoomyState is a copy of a state whose lists, and those in them, have spare room with junk in it.
 func RoomyState(s api.State) api.State {
-	out := api.State{Balances: Room(s.Balances, junkBalance()), Instructions: Room(s.Instructions, junkInstruction()), Queue: Room(s.Queue, junkId)}
-	for i, x := range out.Balances {
-		out.Balances[i].Position.Marks = Room(x.Position.Marks, junkMark())
-	}
+	out := api.State{Balances: RoomyBalances(s.Balances), Instructions: Room(s.Instructions, junkInstruction()), Queue: Room(s.Queue, junkId)}
 	for i, x := range out.Instructions {
 		out.Instructions[i].Record.Legs = Room(x.Record.Legs, junkLeg())
 	}
@@ -111,10 +106,7 @@ func RoomyState(s api.State) api.State {
 
 // WholeState is a copy of a state in whose lists, and those in them, the spare room is seen too.
 func WholeState(s api.State) api.State {
-	out := api.State{Balances: slices.Clone(Whole(s.Balances)), Instructions: slices.Clone(Whole(s.Instructions)), Queue: slices.Clone(Whole(s.Queue))}
-	for i, x := range out.Balances {
-		out.Balances[i].Position.Marks = slices.Clone(Whole(x.Position.Marks))
-	}
+	out := api.State{Balances: WholeBalances(s.Balances), Instructions: slices.Clone(Whole(s.Instructions)), Queue: slices.Clone(Whole(s.Queue))}
 	for i, x := range out.Instructions {
 		out.Instructions[i].Record.Legs = slices.Clone(Whole(x.Record.Legs))
 	}
@@ -123,32 +115,23 @@ func WholeState(s api.State) api.State {
 
 // OverrunState fills the spare room of a state's lists, and of those in them, as one who was given it may. If two of them shared memory, one would be changed.
 func OverrunState(s api.State) {
-	for _, x := range s.Balances {
-		spoil(spare(x.Position.Marks), junkMark())
-	}
+	OverrunBalances(s.Balances)
 	for _, x := range s.Instructions {
 		spoil(spare(x.Record.Legs), junkLeg())
 	}
-	spoil(spare(s.Balances), junkBalance())
 	spoil(spare(s.Instructions), junkInstruction())
 	spoil(spare(s.Queue), junkId)
 }
 
 // SpoilState overwrites a state's lists, those in them, and their spare room.
 func SpoilState(s api.State) {
-	for _, x := range s.Balances {
-		spoil(Whole(x.Position.Marks), junkMark())
-	}
+	SpoilBalances(s.Balances)
 	for _, x := range s.Instructions {
 		spoil(Whole(x.Record.Legs), junkLeg())
 	}
-	spoil(Whole(s.Balances), junkBalance())
 	spoil(Whole(s.Instructions), junkInstruction())
 	spoil(Whole(s.Queue), junkId)
 }
-
-// spare is a list's spare room.
-func spare[T any](l []T) []T { return l[len(l):cap(l)] }
 
 func junkPosition() api.Position { return Position(-85, 86, 87) }
 

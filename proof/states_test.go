@@ -133,6 +133,39 @@ func TestRoomyState(t *testing.T) {
 	}
 }
 
+func TestBalance(t *testing.T) {
+	if got := proof.Balance(2, 3, proof.Position(5)); got.Key != (api.Key{Account: 2, Asset: 3}) || got.Position.Avail != 5 {
+		t.Errorf("Balance is %+v", got)
+	}
+}
+
+// TestRoomyBalances: what is done with the balances of a state is done so with balances alone.
+func TestRoomyBalances(t *testing.T) {
+	s := aState()
+	roomy := proof.RoomyBalances(s.Balances)
+	if !proof.SameBalances(roomy, s.Balances) || !proof.SameBalances(nil, []api.Balance{}) || proof.SameBalances(roomy, s.Balances[1:]) || cap(roomy) < 6 || cap(roomy[0].Position.Marks) < 3 {
+		t.Errorf("RoomyBalances is %+v", roomy)
+	}
+	roomy[:4][3].Position.Avail = 1
+	roomy[0].Position.Marks[:1][0].Qty = 1
+	whole := proof.WholeBalances(roomy)
+	if len(whole) < 6 || whole[3].Position.Avail != 1 || whole[0].Position.Marks[0].Qty != 1 {
+		t.Errorf("WholeBalances is %+v", whole)
+	}
+	if proof.OverrunBalances(roomy); roomy[:4][3].Position.Avail == 1 || roomy[0].Position.Marks[:1][0].Qty == 1 || !proof.SameBalances(roomy, s.Balances) || whole[3].Position.Avail != 1 {
+		t.Errorf("OverrunBalances left %+v", roomy)
+	}
+	proof.SpoilBalances(roomy)
+	for at, x := range proof.Whole(roomy) {
+		if x.Key.Account >= 0 || x.Position.Avail >= 0 {
+			t.Errorf("SpoilBalances left %+v at %d", x, at)
+		}
+	}
+	if !proof.SameState(s, aState()) {
+		t.Errorf("what was copied became %+v", s)
+	}
+}
+
 func TestSpoilAnswer(t *testing.T) {
 	of := func() api.Answer {
 		return api.Answer{Positions: append(make([]api.Position, 0, 4), proof.Position(5, 3, 1), proof.Position(6))}

@@ -3,7 +3,6 @@ package queue_test
 import (
 	"errors"
 	"fmt"
-	"slices"
 	"testing"
 
 	"custody/api"
@@ -84,8 +83,6 @@ func bared(q queued) [][]int {
 	}
 	return append(l, ready, touched, []int{q.Len(), bit(q.Full())}, q.Items(), q.Idle())
 }
-
-func sameLists(a, b [][]int) bool { return slices.EqualFunc(a, b, slices.Equal[[]int]) }
 
 // told is a row of calls as a text.
 func told(calls []call) string {
@@ -168,7 +165,7 @@ func ids(l ...int) []int { return l }
 func (x tested) holds(all, idle []int) {
 	x.t.Helper()
 	want := [][]int{{len(all), bit(len(all) == max(x.room, 0))}, all, idle}
-	if got := seen(x.q); !sameLists(got, want) {
+	if got := seen(x.q); !proof.SameLists(got, want) {
 		x.t.Errorf("Len and Full, Items, Idle are %v, not %v", got, want)
 	}
 }

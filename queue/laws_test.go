@@ -18,11 +18,11 @@ func agree(t *testing.T, room int, calls []call) {
 		if !slices.Equal(got, want) {
 			t.Fatalf("room %d: %sthe last is %v, not %v", room, told(calls[:n+1]), got, want)
 		}
-		if got, want := seen(q), seen(b); !sameLists(got, want) {
+		if got, want := seen(q), seen(b); !proof.SameLists(got, want) {
 			t.Fatalf("room %d: %sseen is %v, not %v", room, told(calls[:n+1]), got, want)
 		}
 	}
-	if got, want := bared(q), bared(b); !sameLists(got, want) {
+	if got, want := bared(q), bared(b); !proof.SameLists(got, want) {
 		t.Fatalf("room %d: %sbared is %v, not %v", room, told(calls), got, want)
 	}
 }
@@ -37,7 +37,7 @@ func agreeAtEnd(t *testing.T, room int, calls []call) {
 			t.Fatalf("room %d: %sthe last is %v, not %v", room, told(calls), got, want)
 		}
 	}
-	if got, want := bared(q), bared(b); !sameLists(got, want) {
+	if got, want := bared(q), bared(b); !proof.SameLists(got, want) {
 		t.Fatalf("room %d: %sbared is %v, not %v", room, told(calls), got, want)
 	}
 }
@@ -245,11 +245,11 @@ func TestKeysInAnyOrder(t *testing.T) {
 				first = proof.Of(&d, take(), back(id), remove(id))
 				second = first
 			}
-			if got, want := second.ask(b), first.ask(a); !slices.Equal(got, want) || !sameLists(seen(a), seen(b)) {
+			if got, want := second.ask(b), first.ask(a); !slices.Equal(got, want) || !proof.SameLists(seen(a), seen(b)) {
 				t.Fatalf("%s is %v, %s is %v; seen are %v and %v", first.what, want, second.what, got, seen(a), seen(b))
 			}
 		}
-		if x, y := bared(a), bared(b); !sameLists(x, y) {
+		if x, y := bared(a), bared(b); !proof.SameLists(x, y) {
 			t.Fatalf("bared are %v and %v", x, y)
 		}
 	}
@@ -269,7 +269,7 @@ func TestTouchOfTwoLists(t *testing.T) {
 			t.Fatalf("of %v and %v %d became ready, together %d, turned about %d", l, m, apart, together, turned)
 		}
 		x, y, z := bared(a), bared(b), bared(c)
-		if !sameLists(x, y) || !sameLists(x, z) {
+		if !proof.SameLists(x, y) || !proof.SameLists(x, z) {
 			t.Fatalf("%v and %v left %v, together %v, turned about %v", l, m, x, y, z)
 		}
 	}
@@ -321,7 +321,7 @@ func TestQueuesInTurns(t *testing.T) {
 		}
 	}
 	for at := range queues {
-		if got, want := bared(queues[at]), bared(books[at]); !sameLists(got, want) {
+		if got, want := bared(queues[at]), bared(books[at]); !proof.SameLists(got, want) {
 			t.Fatalf("bared is %v, not %v", got, want)
 		}
 	}
@@ -332,7 +332,7 @@ func TestSameAgain(t *testing.T) {
 	for seed := range 100 {
 		want := bared(thrown(proof.Dice(seed), 20))
 		for range 3 {
-			if got := bared(thrown(proof.Dice(seed), 20)); !sameLists(got, want) {
+			if got := bared(thrown(proof.Dice(seed), 20)); !proof.SameLists(got, want) {
 				t.Fatalf("the same calls make %v, and %v", want, got)
 			}
 		}

@@ -39,7 +39,7 @@ func TestKeysAreNotKept(t *testing.T) {
 			c := proof.Of(&d, put(id, l...), touch(l...), take(), back(id), remove(id))
 			got, want := c.ask(q), c.ask(b)
 			proof.SpoilKeys(handed)
-			if !slices.Equal(got, want) || !sameLists(seen(q), seen(b)) {
+			if !slices.Equal(got, want) || !proof.SameLists(seen(q), seen(b)) {
 				t.Fatalf("%s is %v, not %v; seen is %v, not %v", c.what, got, want, seen(q), seen(b))
 			}
 		}

@@ -5,6 +5,7 @@ import (
 	"testing"
 
 	"custody/api"
+	"custody/proof"
 	"custody/queue"
 )
 
@@ -138,7 +139,7 @@ func TestPutTwice(t *testing.T) {
 			if room == 3 {
 				x.refuses(api.ErrFull, 4, keyB)
 			}
-			if after := seen(x.q); !sameLists(before, after) {
+			if after := seen(x.q); !proof.SameLists(before, after) {
 				t.Errorf("refusals made of %v %v", before, after)
 			}
 		}
