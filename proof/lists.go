@@ -22,11 +22,11 @@ func Shuffle[T any](d *Dice, l []T) {
 }
 
 // SameLists tells whether two lists of lists are the same; nil and empty lists are the same.
-func SameLists(a, b [][]int) bool { return slices.EqualFunc(a, b, slices.Equal[[]int]) }
+func SameLists[T comparable](a, b [][]T) bool { return slices.EqualFunc(a, b, slices.Equal[[]T]) }
 
 // CopyLists is a copy of lists, and of those in them.
-func CopyLists(l [][]int) [][]int {
-	var out [][]int
+func CopyLists[T any](l [][]T) [][]T {
+	var out [][]T
 	for _, x := range l {
 		out = append(out, slices.Clone(x))
 	}
@@ -34,19 +34,19 @@ func CopyLists(l [][]int) [][]int {
 }
 
 // OverrunLists fills the spare room of lists, and of those in them, as one who was given them may: if two of them shared memory, one would be changed.
-func OverrunLists(l [][]int, junk int) {
+func OverrunLists[T any](l [][]T, junk T) {
 	for _, x := range l {
 		spoil(spare(x), junk)
 	}
-	spoil(spare(l), []int{junk})
+	spoil(spare(l), []T{junk})
 }
 
 // SpoilLists overwrites lists, those in them, and their spare room.
-func SpoilLists(l [][]int, junk int) {
+func SpoilLists[T any](l [][]T, junk T) {
 	for _, x := range l {
 		Overwrite(x, junk)
 	}
-	Overwrite(l, []int{junk})
+	Overwrite(l, []T{junk})
 }
 
 // spare is a list's spare room.

@@ -58,3 +58,12 @@ func (d *Dice) Text(n int, from string) string {
 	}
 	return string(b)
 }
+
+// Bytes are so many bytes.
+func (d *Dice) Bytes(n int) []byte {
+	b := make([]byte, n)
+	for i := range b {
+		b[i] = byte(d.Next())
+	}
+	return b
+}

@@ -142,11 +142,11 @@ func TestSumBitByBit(t *testing.T) {
 	}
 	d := roll(5)
 	for n := range 600 {
-		check(d.bytes(n))
+		check(d.Bytes(n))
 		check(make([]byte, n))
 		check(bytes.Repeat([]byte{0xff}, n))
 	}
-	check(d.bytes(1 << 20))
+	check(d.Bytes(1 << 20))
 }
 
 // P5.7
@@ -155,7 +155,7 @@ func TestFrame(t *testing.T) {
 	d := roll(6)
 	for _, n := range sizes() {
 		for _, number := range numbers() {
-			payload := d.bytes(n)
+			payload := d.Bytes(n)
 			if got := made(t, number, payload); !bytes.Equal(got, framed(number, payload)) {
 				t.Errorf("Frame(%d, %d bytes) is % .20x, want % .20x", number, n, got, framed(number, payload))
 			}
@@ -208,9 +208,9 @@ func TestUnframe(t *testing.T) {
 	d := roll(7)
 	for _, n := range sizes() {
 		for _, number := range numbers() {
-			payload := d.bytes(n)
+			payload := d.Bytes(n)
 			f := framed(number, payload)
-			for _, behind := range [][]byte{nil, {0}, {0xff}, f, d.bytes(20)} {
+			for _, behind := range [][]byte{nil, {0}, {0xff}, f, d.Bytes(20)} {
 				gotN, got, size, err := wire.Unframe(join(f, behind))
 				if gotN != number || !bytes.Equal(got, payload) || size != len(f) || err != nil {
 					t.Errorf("Unframe of the frame of %d and %d bytes is %d, %d bytes, %d, %v", number, n, gotN, len(got), size, err)
@@ -303,7 +303,7 @@ func TestUnframeWithEachPartBroken(t *testing.T) {
 func TestUnframeOfAnyBytes(t *testing.T) {
 	d := roll(8)
 	for range 50000 {
-		b := d.bytes(d.Below(20))
+		b := d.Bytes(d.Below(20))
 		for i := range min(3, len(b)) {
 			if d.Below(2) == 0 {
 				b[i] = byte(d.Below(4))
@@ -334,12 +334,12 @@ func TestUnframeIsNewMemory(t *testing.T) {
 func TestFramesThereAndBack(t *testing.T) {
 	d := roll(9)
 	for range 5000 {
-		number, payload := d.number(), d.bytes(d.Below(40))
+		number, payload := d.number(), d.Bytes(d.Below(40))
 		f := made(t, number, payload)
 		for i := range f {
 			refused(t, f[:i], api.ErrShort)
 		}
-		n, got, size, err := wire.Unframe(join(f, d.bytes(d.Below(10))))
+		n, got, size, err := wire.Unframe(join(f, d.Bytes(d.Below(10))))
 		if n != number || !bytes.Equal(got, payload) || size != len(f) || err != nil {
 			t.Fatalf("Unframe(Frame(%d, % x)) is %d, % x, %d, %v", number, payload, n, got, size, err)
 		}
@@ -349,7 +349,7 @@ func TestFramesThereAndBack(t *testing.T) {
 func TestBeginningsOfLongFrames(t *testing.T) {
 	d := roll(10)
 	for _, n := range []int{247, 248, 256, 65535, 65536} {
-		f := made(t, math.MaxUint64, d.bytes(n))
+		f := made(t, math.MaxUint64, d.Bytes(n))
 		head := len(f) - n
 		for i := range head + 10 {
 			refused(t, f[:i], api.ErrShort)
@@ -363,7 +363,7 @@ func TestFramesOneBehindTheOther(t *testing.T) {
 	d := roll(11)
 	var all []byte
 	for n := range 100 {
-		all = append(all, made(t, uint64(n), d.bytes(n))...)
+		all = append(all, made(t, uint64(n), d.Bytes(n))...)
 	}
 	for n := range 100 {
 		number, payload, size, err := wire.Unframe(all)
@@ -408,7 +408,7 @@ func turn(b []byte, by uint32) bool {
 func TestABurstIsSeen(t *testing.T) {
 	d := roll(13)
 	for _, n := range []int{0, 1, 2, 3, 4, 5, 12, 33, 248} {
-		whole := made(t, d.number(), d.bytes(n))
+		whole := made(t, d.number(), d.Bytes(n))
 		sumAt := len(whole) - n - 4
 		for at := sumAt; at < len(whole); at++ {
 			if at > sumAt && at < sumAt+4 {
@@ -430,7 +430,7 @@ func TestABurstIsSeen(t *testing.T) {
 
 func TestABurstInALongFrame(t *testing.T) {
 	d := roll(14)
-	whole := made(t, 1<<40, d.bytes(api.MaxFrame))
+	whole := made(t, 1<<40, d.Bytes(api.MaxFrame))
 	head := len(whole) - api.MaxFrame
 	for _, at := range []int{head, head + 1, head + 1000, len(whole) - 5, len(whole) - 4, len(whole) - 1} {
 		for _, by := range []uint32{1, 0x80000000, 0xffffffff, 0x82f63b78, uint32(d.Next()) | 1} {

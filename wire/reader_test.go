@@ -169,7 +169,7 @@ func TestEveryTwoBytesAndManyMore(t *testing.T) {
 	}
 	d := roll(1)
 	for range 20000 {
-		b := d.bytes(d.Below(12))
+		b := d.Bytes(d.Below(12))
 		if len(b) > 0 && d.Below(2) == 0 {
 			b[0] |= 0xf8
 		}
@@ -385,9 +385,9 @@ func (d *dice) step() step {
 	if d.Below(2) == 0 {
 		x.i = ^x.i
 	}
-	x.s = string(d.bytes(d.Below(10)))
+	x.s = string(d.Bytes(d.Below(10)))
 	if d.Below(20) == 0 {
-		x.s = string(d.bytes(d.Below(600)))
+		x.s = string(d.Bytes(d.Below(600)))
 	}
 	return x
 }
@@ -451,7 +451,7 @@ func TestWhatIsReadIsWritten(t *testing.T) {
 	d := roll(3)
 	whole := 0
 	for range 30000 {
-		b := d.bytes(d.Below(10))
+		b := d.Bytes(d.Below(10))
 		for i := range b {
 			if d.Below(2) == 0 {
 				b[i] = byte([]int{0, 1, 2, 0xf7, 0xf8, 0xf9, 0xff}[d.Below(7)])

@@ -22,14 +22,6 @@ func roll(seed uint64) *dice { return &dice{proof.Dice(seed)} }
 // number is one of any length in bits, as likely a short one as a long one.
 func (d *dice) number() uint64 { return d.Next() >> d.Below(64) }
 
-func (d *dice) bytes(n int) []byte {
-	b := make([]byte, n)
-	for i := range b {
-		b[i] = byte(d.Next())
-	}
-	return b
-}
-
 // spoil overwrites a list and its spare room, as one who was given it may.
 func spoil(b []byte) {
 	b = b[:cap(b)]
